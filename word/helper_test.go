@@ -1,0 +1,114 @@
+package word_test
+
+import (
+	"math"
+	"math/big"
+	"math/rand"
+	"strings"
+	"testing"
+
+	"groove/api"
+	"groove/word"
+)
+
+// letters are the letters by the document, in their order.
+const letters = "0123456789abcdef"
+
+// whole returns the canonical integer with the value n, by its definition.
+func whole(n *big.Int) api.Int {
+	return api.Int{Neg: n.Sign() < 0, Mag: string(n.Bytes())}
+}
+
+// of returns the canonical integer with the value n.
+func of(n int) api.Int {
+	return whole(big.NewInt(int64(n)))
+}
+
+// loose returns integers that are not canonical.
+func loose() []api.Int {
+	return []api.Int{{Neg: true}, {Mag: "\x00"}, {Neg: true, Mag: "\x00"}, {Mag: "\x00\x01"}, {Neg: true, Mag: "\x00\x05"}, {Mag: "\x00\x00\x00\x00\x00\x00\x00\x00\x00\x00"}}
+}
+
+// power returns the number of words of n letters over q letters.
+func power(q, n int) *big.Int {
+	return new(big.Int).Exp(big.NewInt(int64(q)), big.NewInt(int64(n)), nil)
+}
+
+// noAlphabets returns numbers of letters that no alphabet has.
+func noAlphabets() []int {
+	return []int{0, -1, -2, -16, api.MaxLetter + 1, api.MaxLetter + 2, 64, 256, math.MaxInt32 + 1, math.MaxInt, math.MinInt, math.MinInt + 1}
+}
+
+// lists returns the strings of n letters, each of them one of these bytes, in the order of the bytes.
+func lists(bytes string, n int) []string {
+	if n == 0 {
+		return []string{""}
+	}
+	var list []string
+	for i := range len(bytes) {
+		for _, w := range lists(bytes, n-1) {
+			list = append(list, bytes[i:i+1]+w)
+		}
+	}
+	return list
+}
+
+// upTo returns the strings of up to n letters, each of them one of these bytes.
+func upTo(bytes string, n int) []string {
+	var list []string
+	for size := range n + 1 {
+		list = append(list, lists(bytes, size)...)
+	}
+	return list
+}
+
+// random returns a string of n letters, each of them one of these bytes.
+func random(r *rand.Rand, bytes string, n int) string {
+	list := make([]byte, n)
+	for i := range list {
+		list[i] = bytes[r.Intn(len(bytes))]
+	}
+	return string(list)
+}
+
+// fibonacci returns the word of Fibonacci with the number n, which has many borders and a great root.
+func fibonacci(n int) string {
+	a, b := "0", "01"
+	for range n {
+		a, b = b, b+a
+	}
+	return a
+}
+
+// samples returns strings of all kinds: all short ones over two letters, strings of other bytes, repeated ones and nearly repeated ones.
+func samples(seed int64) []string {
+	r := rand.New(rand.NewSource(seed))
+	list := append(upTo("01", 9), upTo("\x00\xff\xc3", 4)...)
+	for n := range 12 {
+		list = append(list, fibonacci(n), fibonacci(n)+"0", strings.Repeat("é", n), strings.Repeat("01", n)+"1")
+	}
+	for i := range 300 {
+		u := random(r, []string{"01", "012", letters, "\x80\xff", " x\x00é"}[i%5], 1+i%17)
+		w := strings.Repeat(u, 1+r.Intn(6))
+		list = append(list, w, w+u[:r.Intn(len(u))], random(r, u, 40))
+	}
+	return list
+}
+
+// rankOf returns the rank of a word that is valid.
+func rankOf(t *testing.T, q int, w string) api.Int {
+	t.Helper()
+	a, e := word.Rank(q, w)
+	if e != api.OK {
+		t.Fatalf("P7.3: Rank of %q over %d letters: %d", w, q, e)
+	}
+	return a
+}
+
+// short returns the beginning of a long word for a message.
+func short(w string) string {
+	if len(w) > 40 {
+		return w[:40] + ".."
+	}
+	return w
+}
