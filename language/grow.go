@@ -1,9 +1,14 @@
 package language
 
-import "slices"
+import (
+	"slices"
+
+	"groove/api"
+	"groove/states"
+)
 
 // lists are the words of some length of paths from some states, by the sets of their ends: words with the same ends go on in the same way.
-type lists map[states][]*tail
+type lists map[states.Set][]*tail
 
 // tail is the last letter of a word, behind the word before it; nil is the empty word. (If words were copied for each letter, long ones would cost too much.)
 type tail struct {
@@ -12,18 +17,18 @@ type tail struct {
 }
 
 // start returns the empty word, which labels the paths of no edges from states of a set.
-func start(from states) lists {
+func start(from states.Set) lists {
 	return lists{from: {nil}}
 }
 
 // grow returns the words with one letter more.
-func (l lists) grow(m moves) lists {
+func (l lists) grow(m states.Moves) lists {
 	longer := lists{}
 	for set, words := range l {
-		m.follow(set, func(letter byte, ends states) {
+		m.Follow(set, func(label int, ends states.Set) {
 			list := longer[ends]
 			for _, w := range words {
-				list = append(list, &tail{w, letter})
+				list = append(list, &tail{w, api.Letters[label]})
 			}
 			longer[ends] = list
 		})
@@ -41,7 +46,7 @@ func (l lists) size() int {
 }
 
 // texts returns the words of which some path ends in a state of a set, lexicographically.
-func (l lists) texts(to states) []string {
+func (l lists) texts(to states.Set) []string {
 	var list []string
 	for ends, words := range l {
 		if ends&to == 0 {

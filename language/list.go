@@ -4,6 +4,7 @@ import (
 	"strings"
 
 	"groove/api"
+	"groove/states"
 	"groove/word"
 )
 
@@ -12,7 +13,7 @@ func Words(g api.Graph, n int) ([]string, api.Errno) {
 	if e := checkList(g, n); e != api.OK {
 		return nil, e
 	}
-	return between(g, every(g), every(g), n)
+	return between(g, states.Every(g), states.Every(g), n)
 }
 
 // From returns the words of n letters of paths that begin in the state s, lexicographically.
@@ -20,7 +21,7 @@ func From(g api.Graph, s, n int) ([]string, api.Errno) {
 	if e := checkList(g, n, s); e != api.OK {
 		return nil, e
 	}
-	return between(g, only(s), every(g), n)
+	return between(g, states.Of(s), states.Every(g), n)
 }
 
 // Between returns the words of n letters of paths from the state s to the state t, lexicographically.
@@ -28,7 +29,7 @@ func Between(g api.Graph, s, t, n int) ([]string, api.Errno) {
 	if e := checkList(g, n, s, t); e != api.OK {
 		return nil, e
 	}
-	return between(g, only(s), only(t), n)
+	return between(g, states.Of(s), states.Of(t), n)
 }
 
 // Missing returns the first word of at most n letters that is no word of g, and whether there is one.
@@ -36,11 +37,11 @@ func Missing(g api.Graph, n int) (string, bool, api.Errno) {
 	if e := checkList(g, n); e != api.OK {
 		return "", false, e
 	}
-	m := movesOf(g)
-	l := start(every(g))
+	m := states.MovesOf(g)
+	l := start(states.Every(g))
 	for length := range n + 1 {
 		// A word that is missing counts even if there are too many others of its length.
-		if w, is := absent(g.Labels, length, l.texts(every(g))); is {
+		if w, is := absent(g.Labels, length, l.texts(states.Every(g))); is {
 			return w, true, api.OK
 		}
 		if l.size() > api.MaxList {
@@ -52,8 +53,8 @@ func Missing(g api.Graph, n int) (string, bool, api.Errno) {
 }
 
 // between returns the words of n letters of paths from states of a set to states of another one, lexicographically, or ErrLimit if there are too many words of up to n letters of paths from the former.
-func between(g api.Graph, from, to states, n int) ([]string, api.Errno) {
-	m := movesOf(g)
+func between(g api.Graph, from, to states.Set, n int) ([]string, api.Errno) {
+	m := states.MovesOf(g)
 	l := start(from)
 	for range n {
 		l = l.grow(m)

@@ -5,6 +5,7 @@ import (
 
 	"groove/api"
 	"groove/graph"
+	"groove/states"
 )
 
 // Path returns the lexicographically least list of indices of edges that are a path labelled w.
@@ -25,24 +26,24 @@ func Path(g api.Graph, w string) ([]int, api.Errno) {
 		label, ends := labelOf(w[i]), starts[i+1]
 		// Any edge to these ends can be gone on from, so the least one belongs to the least path.
 		path[i] = slices.IndexFunc(g.Edges, func(edge api.Edge) bool {
-			return edge.Label == label && from.has(edge.From) && ends.has(edge.To)
+			return edge.Label == label && from.Has(edge.From) && ends.Has(edge.To)
 		})
-		from = only(g.Edges[path[i]].To)
+		from = states.Of(g.Edges[path[i]].To)
 	}
 	return path, api.OK
 }
 
 // starting returns, for each offset in w, and for its length, the states in which paths begin that are labelled with the rest of w from there on.
-func starting(g api.Graph, w string) ([]states, api.Errno) {
+func starting(g api.Graph, w string) ([]states.Set, api.Errno) {
 	reversed, e := graph.Reverse(g)
 	if e != api.OK {
 		return nil, e
 	}
-	m := movesOf(reversed)
-	list := make([]states, len(w)+1)
-	list[len(w)] = every(g)
+	m := states.MovesOf(reversed)
+	list := make([]states.Set, len(w)+1)
+	list[len(w)] = states.Every(g)
 	for i := len(w) - 1; i >= 0; i-- {
-		list[i] = m.step(list[i+1], labelOf(w[i]))
+		list[i] = m.Step(list[i+1], labelOf(w[i]))
 	}
 	return list, api.OK
 }
