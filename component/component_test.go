@@ -6,11 +6,12 @@ import (
 
 	"groove/api"
 	"groove/component"
+	"groove/samples"
 )
 
 // P10.2, P10.4, P10.5: components, cyclic ones and sinks of all graphs with four states, and of those of all kinds, against the definitions.
 func TestDefinitions(t *testing.T) {
-	for _, g := range slices.Concat(samples(21), subgraphs(4)) {
+	for _, g := range slices.Concat(graphs(21), samples.Subgraphs(1, 4)) {
 		all := partsOf(g)
 		if list := componentsOf(t, g); !isSame(list, all) {
 			t.Fatalf("P10.2: Of %v: %v, not %v", g, list, all)
@@ -35,7 +36,7 @@ func TestDefinitions(t *testing.T) {
 
 // P10.2: each state is in exactly one component, and two states are in one exactly if each is reached from the other one; states and components ascend.
 func TestComponents(t *testing.T) {
-	for _, g := range samples(22) {
+	for _, g := range graphs(22) {
 		place := slices.Repeat([]int{-1}, g.States)
 		least := -1
 		for i, set := range componentsOf(t, g) {
@@ -70,7 +71,7 @@ func TestComponents(t *testing.T) {
 
 // P10.3: what is reached from a state, against the definition: the state itself, whatever edges lead to, and nothing else.
 func TestReach(t *testing.T) {
-	for _, g := range samples(23) {
+	for _, g := range graphs(23) {
 		a := reaches(g)
 		for s := range g.States {
 			list := reachOf(t, g, s)
@@ -127,7 +128,7 @@ func TestReachErrors(t *testing.T) {
 // P10.4: no edge leaves a sink, a sink is reached from each state, and sinks are components.
 func TestSinks(t *testing.T) {
 	still, cyclic := 0, 0
-	for _, g := range samples(24) {
+	for _, g := range graphs(24) {
 		all, ends := componentsOf(t, g), sinksOf(t, g)
 		if (g.States > 0) != (len(ends) > 0) {
 			t.Fatalf("P10.4: Sinks %v: %v", g, ends)
@@ -156,7 +157,7 @@ func TestSinks(t *testing.T) {
 
 // P10.5: the part on a cyclic component is irreducible, that on another one is not; an edge lies in one of the former exactly if a path leads from its end to its beginning.
 func TestCyclicParts(t *testing.T) {
-	for _, g := range samples(25) {
+	for _, g := range graphs(25) {
 		cyclic := cyclicOf(t, g)
 		for _, set := range componentsOf(t, g) {
 			is := slices.ContainsFunc(cyclic, func(c []int) bool { return slices.Equal(c, set) })
@@ -178,7 +179,7 @@ func TestCyclicParts(t *testing.T) {
 
 // P10.8: the reversed graph has the same components, of which the same ones are cyclic, and is irreducible exactly if the graph is.
 func TestReversedComponents(t *testing.T) {
-	for _, g := range samples(26) {
+	for _, g := range graphs(26) {
 		r := reversed(t, g)
 		if a, b := componentsOf(t, g), componentsOf(t, r); !isSame(a, b) {
 			t.Fatalf("P10.8: Of %v: %v, reversed %v", g, a, b)

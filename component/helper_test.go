@@ -9,6 +9,7 @@ import (
 	"groove/api"
 	"groove/component"
 	"groove/graph"
+	"groove/samples"
 )
 
 // of returns the graph with some states and the edges between the pairs of states that follow each other, all with the label 0.
@@ -17,16 +18,7 @@ func of(states int, pairs ...int) api.Graph {
 	for i := 0; i < len(pairs); i += 2 {
 		edges = append(edges, api.Edge{From: pairs[i], To: pairs[i+1]})
 	}
-	return made(1, states, edges)
-}
-
-// made returns a graph with some labels, states and edges, in their order.
-func made(labels, states int, edges []api.Edge) api.Graph {
-	g, e := graph.Make(labels, states, edges)
-	if e != api.OK {
-		panic(e)
-	}
-	return g
+	return samples.Made(1, states, edges)
 }
 
 // chain returns the path through n states in which each state leads to the next one, with further edges.
@@ -72,7 +64,7 @@ func dense(first, step int) api.Graph {
 	for i := range api.MaxEdge {
 		edges = append(edges, api.Edge{From: i / 16, Label: i % 3, To: (i/16 + first + i%16*step) % 64})
 	}
-	return made(3, api.MaxState, edges)
+	return samples.Made(3, api.MaxState, edges)
 }
 
 // apart returns a graph with 64 states and 1024 edges in which the states of each block of 16 lead to all states of the block.
@@ -81,7 +73,7 @@ func apart() api.Graph {
 	for i := range api.MaxEdge {
 		edges = append(edges, api.Edge{From: i / 16, To: i/256*16 + i%16})
 	}
-	return made(1, api.MaxState, edges)
+	return samples.Made(1, api.MaxState, edges)
 }
 
 // everyLabel returns a graph in which all labels lead from 0 to 1, and from 1 to 0.
@@ -91,30 +83,6 @@ func everyLabel() api.Graph {
 		g.Edges = append(g.Edges, api.Edge{From: i / 256, Label: i % 256, To: 1 - i/256})
 	}
 	return g
-}
-
-// subgraphs returns all graphs with some states and one label.
-func subgraphs(states int) []api.Graph {
-	var list []api.Graph
-	for bits := range 1 << (states * states) {
-		g := api.Graph{Labels: 1, States: states}
-		for i := range states * states {
-			if bits>>i&1 == 1 {
-				g.Edges = append(g.Edges, api.Edge{From: i / states, To: i % states})
-			}
-		}
-		list = append(list, g)
-	}
-	return list
-}
-
-// random returns a graph with some labels, states and edges, some of which may be equal.
-func random(r *rand.Rand, labels, states, edges int) api.Graph {
-	var list []api.Edge
-	for range edges {
-		list = append(list, api.Edge{From: r.Intn(states), Label: r.Intn(labels), To: r.Intn(states)})
-	}
-	return made(labels, states, list)
 }
 
 // periodic returns a graph in which edges lead only from states of each of some classes to those of the next one, in which the states stand in any order.
@@ -130,21 +98,21 @@ func periodic(r *rand.Rand, classes, states, edges int) api.Graph {
 			list = append(list, edge)
 		}
 	}
-	return made(2, states, list)
+	return samples.Made(2, states, list)
 }
 
-// samples returns valid graphs of all kinds: known ones, all small ones, and random ones, with few and many edges, and with several periods.
-func samples(seed int64) []api.Graph {
+// graphs returns valid graphs of all kinds: known ones, all small ones, and random ones, with few and many edges, and with several periods.
+func graphs(seed int64) []api.Graph {
 	r := rand.New(rand.NewSource(seed))
-	list := slices.Concat(subgraphs(0), subgraphs(1), subgraphs(2), subgraphs(3))
+	list := slices.Concat(samples.Subgraphs(1, 0), samples.Subgraphs(1, 1), samples.Subgraphs(1, 2), samples.Subgraphs(1, 3))
 	for _, k := range known() {
 		list = append(list, k.g)
 	}
 	for i := range 300 {
 		states := 1 + r.Intn(12)
-		list = append(list, random(r, 1+r.Intn(3), states, r.Intn(1+2*states)), random(r, 1, 4, r.Intn(13)), periodic(r, 1+r.Intn(6), states, r.Intn(1+16*states)))
+		list = append(list, samples.Random(r, 1+r.Intn(3), states, r.Intn(1+2*states)), samples.Random(r, 1, 4, r.Intn(13)), periodic(r, 1+r.Intn(6), states, r.Intn(1+16*states)))
 		if i%10 == 0 {
-			list = append(list, random(r, 1, 64, 60+r.Intn(60)), random(r, 2, 64, 80+r.Intn(200)), random(r, 256, 64, 1024), periodic(r, 2+r.Intn(15), 64, 1024), periodic(r, 2+r.Intn(4), 64, 600+r.Intn(600)))
+			list = append(list, samples.Random(r, 1, 64, 60+r.Intn(60)), samples.Random(r, 2, 64, 80+r.Intn(200)), samples.Random(r, 256, 64, 1024), periodic(r, 2+r.Intn(15), 64, 1024), periodic(r, 2+r.Intn(4), 64, 600+r.Intn(600)))
 		}
 	}
 	return list
@@ -155,7 +123,7 @@ func irreducible(t *testing.T, seed int64) []api.Graph {
 	t.Helper()
 	var list []api.Graph
 	several, less := 0, 0
-	for _, g := range samples(seed) {
+	for _, g := range graphs(seed) {
 		for _, set := range partsOf(g) {
 			if hasEdge(g, set) {
 				p := keepOf(t, g, set)
@@ -384,27 +352,4 @@ func reachOf(t *testing.T, g api.Graph, s int) []int {
 func noStates(g api.Graph) []int {
 	list := []int{-1, -2, math.MinInt, math.MinInt + 1, g.States, g.States + 1, 64, 65, 1 << 32, math.MaxInt - 1, math.MaxInt}
 	return slices.DeleteFunc(list, func(s int) bool { return s >= 0 && s < g.States })
-}
-
-// faults returns graphs that are not valid: wrong labels, states, edges, orders and numbers of edges, some of them in graphs that have no cycle, or only one component.
-func faults() []api.Graph {
-	edge := func(from, label, to int) api.Edge { return api.Edge{From: from, Label: label, To: to} }
-	long := dense(0, 1)
-	long.Edges = append(slices.Clone(long.Edges), edge(63, 2, 63))
-	list := []api.Graph{
-		{}, long, {Labels: 1, States: 1, Edges: make([]api.Edge, 2)}, {Labels: 1, States: 1, Edges: make([]api.Edge, api.MaxEdge+1)}, {Labels: 2, States: 0, Edges: []api.Edge{edge(0, 0, 0)}},
-		{Labels: 1, States: 2, Edges: []api.Edge{edge(1, 0, 0), edge(0, 0, 1)}}, {Labels: 2, States: 2, Edges: []api.Edge{edge(0, 1, 1), edge(0, 0, 1), edge(1, 0, 0)}}, {Labels: 1, States: 2, Edges: []api.Edge{edge(0, 0, 1), edge(0, 0, 0), edge(1, 0, 0)}},
-	}
-	for _, labels := range []int{0, -1, 257, math.MinInt, math.MaxInt} {
-		list = append(list, api.Graph{Labels: labels}, api.Graph{Labels: labels, States: 1, Edges: []api.Edge{edge(0, 0, 0)}})
-	}
-	for _, states := range []int{-1, 65, 1 << 32, math.MinInt, math.MaxInt} {
-		list = append(list, api.Graph{Labels: 1, States: states}, api.Graph{Labels: 1, States: states, Edges: []api.Edge{edge(0, 0, 0)}})
-	}
-	for _, n := range []int{-1, 2, 64, math.MinInt, math.MaxInt} {
-		for _, wrong := range []api.Edge{edge(n, 0, 1), edge(1, n, 0), edge(1, 0, n)} {
-			list = append(list, api.Graph{Labels: 2, States: 2, Edges: []api.Edge{wrong}}, api.Graph{Labels: 2, States: 2, Edges: []api.Edge{edge(0, 0, 1), wrong}})
-		}
-	}
-	return list
 }

@@ -6,6 +6,7 @@ import (
 
 	"groove/api"
 	"groove/component"
+	"groove/samples"
 )
 
 // answers are what all functions say of a graph, period 0 if it is not irreducible.
@@ -54,15 +55,15 @@ func knownParts() []answers {
 	return []answers{
 		// Without states, without edges, and with one component that is not cyclic.
 		{g: of(0)}, {g: of(1), all: one, ends: one}, {g: of(2), all: two, ends: two}, {g: of(64), all: singles(64), ends: singles(64)},
-		{g: made(256, 0, nil)}, {g: made(256, 1, nil), all: one, ends: one},
+		{g: samples.Made(256, 0, nil)}, {g: samples.Made(256, 1, nil), all: one, ends: one},
 		// Sinks that are cyclic, and sinks that are not.
 		{g: of(2, 0, 1), all: two, ends: sets(1)}, {g: of(2, 1, 0), all: two, ends: sets(0)}, {g: of(2, 0, 0), all: two, cyclic: sets(0), ends: two}, {g: of(2, 1, 1), all: two, cyclic: sets(1), ends: two},
 		{g: of(2, 0, 0, 0, 1), all: two, cyclic: sets(0), ends: sets(1)}, {g: of(2, 0, 1, 1, 1), all: two, cyclic: sets(1), ends: sets(1)}, {g: of(2, 0, 0, 0, 1, 1, 1), all: two, cyclic: two, ends: sets(1)}, {g: of(2, 0, 0, 1, 1), all: two, cyclic: two, ends: two},
 		{g: of(3, 0, 1, 1, 0, 1, 2), all: sets(0, 1, -1, 2), cyclic: sets(0, 1), ends: sets(2)}, {g: of(3, 0, 1, 0, 2), all: singles(3), ends: sets(1, -1, 2)}, {g: of(3, 0, 2, 1, 2, 2, 2), all: singles(3), cyclic: sets(2), ends: sets(2)},
 		{g: of(5, 0, 1, 0, 2, 1, 1, 2, 3, 3, 2, 0, 4), all: sets(0, -1, 1, -1, 2, 3, -1, 4), cyclic: sets(1, -1, 2, 3), ends: sets(1, -1, 2, 3, -1, 4)},
 		// Several edges between the same states.
-		{g: made(3, 2, []api.Edge{{To: 1}, {Label: 1, To: 1}, {Label: 2, To: 1}}), all: two, ends: sets(1)},
-		{g: made(2, 2, []api.Edge{{}, {Label: 1}, {To: 1}, {Label: 1, To: 1}}), all: two, cyclic: sets(0), ends: sets(1)},
+		{g: samples.Made(3, 2, []api.Edge{{To: 1}, {Label: 1, To: 1}, {Label: 2, To: 1}}), all: two, ends: sets(1)},
+		{g: samples.Made(2, 2, []api.Edge{{}, {Label: 1}, {To: 1}, {Label: 1, To: 1}}), all: two, cyclic: sets(0), ends: sets(1)},
 		// Components that are first visited, from 0 on, in another order than that of their least states.
 		{g: of(4, 0, 2, 2, 3, 3, 2), all: sets(0, -1, 1, -1, 2, 3), cyclic: sets(2, 3), ends: sets(1, -1, 2, 3)}, {g: of(4, 0, 3, 3, 1, 1, 2), all: singles(4), ends: sets(2)},
 		{g: of(4, 0, 3, 1, 2, 2, 1, 3, 0, 3, 1), all: sets(0, 3, -1, 1, 2), cyclic: sets(0, 3, -1, 1, 2), ends: sets(1, 2)}, {g: of(4, 0, 2, 1, 3, 2, 0, 3, 3), all: sets(0, 2, -1, 1, -1, 3), cyclic: sets(0, 2, -1, 3), ends: sets(0, 2, -1, 3)},
@@ -82,8 +83,8 @@ func whole(g api.Graph, period int, classes ...int) answers {
 func knownPeriods() []answers {
 	return []answers{
 		// A single edge to itself, and several.
-		whole(of(1, 0, 0), 1, 0), whole(made(256, 1, []api.Edge{{Label: 255}}), 1, 0), whole(made(3, 1, []api.Edge{{}, {Label: 1}, {Label: 2}}), 1, 0),
-		whole(of(2, 0, 1, 1, 0), 2, 0, 1), whole(of(2, 0, 1, 1, 0, 0, 0), 1, 0, 0), whole(of(2, 0, 1, 1, 0, 1, 1), 1, 0, 0), whole(made(2, 2, []api.Edge{{To: 1}, {Label: 1, To: 1}, {From: 1, Label: 1}}), 2, 0, 1), whole(everyLabel(), 2, 0, 1),
+		whole(of(1, 0, 0), 1, 0), whole(samples.Made(256, 1, []api.Edge{{Label: 255}}), 1, 0), whole(samples.Made(3, 1, []api.Edge{{}, {Label: 1}, {Label: 2}}), 1, 0),
+		whole(of(2, 0, 1, 1, 0), 2, 0, 1), whole(of(2, 0, 1, 1, 0, 0, 0), 1, 0, 0), whole(of(2, 0, 1, 1, 0, 1, 1), 1, 0, 0), whole(samples.Made(2, 2, []api.Edge{{To: 1}, {Label: 1, To: 1}, {From: 1, Label: 1}}), 2, 0, 1), whole(everyLabel(), 2, 0, 1),
 		whole(cycle(3), 3, 0, 1, 2), whole(cycle(3, 0, 2), 1, 0, 0, 0), whole(of(3, 0, 2, 2, 1, 1, 0), 3, 0, 2, 1), whole(cycle(3, 2, 2), 1, 0, 0, 0), whole(of(3, 0, 1, 1, 0, 0, 2, 2, 0), 2, 0, 1, 1), whole(of(3, 1, 0, 0, 1, 1, 2, 2, 1), 2, 0, 1, 0),
 		// Cycles of several lengths that share states.
 		whole(cycle(4, 1, 0), 2, 0, 1, 0, 1), whole(cycle(4, 2, 0), 1, 0, 0, 0, 0), whole(cycle(6, 2, 0), 3, 0, 1, 2, 0, 1, 2), whole(cycle(6, 3, 0), 2, 0, 1, 0, 1, 0, 1), whole(cycle(6, 2, 0, 3, 0), 1, 0, 0, 0, 0, 0, 0), whole(cycle(6, 4, 2), 3, 0, 1, 2, 0, 1, 2), whole(cycle(6, 5, 4), 2, 0, 1, 0, 1, 0, 1),
@@ -165,7 +166,7 @@ func TestExamples(t *testing.T) {
 
 // P10.1: graphs that are not valid have no other result than ErrArgument, which comes before the error of a state and that of the kind.
 func TestFaults(t *testing.T) {
-	for _, g := range faults() {
+	for _, g := range samples.Faults() {
 		for _, f := range []func(g api.Graph) ([][]int, api.Errno){component.Of, component.Cyclic, component.Sinks} {
 			if list, e := f(g); e != api.ErrArgument || len(list) > 0 {
 				t.Errorf("P10.1: Of, Cyclic, Sinks %v: %v, %d", g, list, e)

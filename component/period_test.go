@@ -5,6 +5,7 @@ import (
 	"testing"
 
 	"groove/api"
+	"groove/samples"
 )
 
 // P10.6: periods against the definition.
@@ -100,9 +101,9 @@ func TestLabels(t *testing.T) {
 				double = append(double, edge, api.Edge{From: edge.From, Label: 10 + i%200, To: edge.To})
 			}
 		}
-		list := []api.Graph{made(1, g.States, single)}
+		list := []api.Graph{samples.Made(1, g.States, single)}
 		if len(double) == 2*len(g.Edges) {
-			list = append(list, made(api.MaxLabel, g.States, double))
+			list = append(list, samples.Made(api.MaxLabel, g.States, double))
 		}
 		for _, h := range list {
 			if p, c := measureOf(t, h); p != period || !slices.Equal(c, classes) {

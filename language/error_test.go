@@ -8,6 +8,7 @@ import (
 
 	"groove/api"
 	"groove/language"
+	"groove/samples"
 )
 
 // checkWordErrors checks the error of a graph or a word, which comes before those of a set, and that there is no other result.
@@ -63,7 +64,7 @@ func badWords() []string {
 // P11.1: graphs that are not valid, whatever else is wrong.
 func TestFaults(t *testing.T) {
 	tooLong := strings.Repeat("0", api.MaxWord+1)
-	for _, g := range faults() {
+	for _, g := range samples.Faults() {
 		for _, w := range append(badWords(), "", "0", "1", "01", tooLong) {
 			for _, set := range append(noSets(), nil, []int{0}, []int{0, 1}) {
 				checkWordErrors(t, g, set, w, api.ErrArgument)
@@ -82,7 +83,7 @@ func TestFaults(t *testing.T) {
 func TestAlphabets(t *testing.T) {
 	tooLong := strings.Repeat("0", api.MaxWord+1)
 	for _, labels := range []int{17, 18, 32, 100, 255, 256} {
-		for _, g := range []api.Graph{of(labels, 0), of(labels, 1), of(labels, 2, 0, 0, 1, 1, 16, 0)} {
+		for _, g := range []api.Graph{samples.Of(labels, 0), samples.Of(labels, 1), samples.Of(labels, 2, 0, 0, 1, 1, 16, 0)} {
 			for _, w := range append(badWords(), "", "0", "01", tooLong) {
 				for _, set := range append(noSets(), nil, []int{0}) {
 					checkWordErrors(t, g, set, w, api.ErrAlphabet)
@@ -102,7 +103,7 @@ func TestAlphabets(t *testing.T) {
 func TestWrongWords(t *testing.T) {
 	full0 := strings.Repeat("0", api.MaxWord)
 	for _, set := range append(noSets(), nil, []int{0}, []int{0, 1}) {
-		for _, g := range []api.Graph{golden(), full(2), of(2, 0), of(2, 64)} {
+		for _, g := range []api.Graph{samples.Golden(), full(2), samples.Of(2, 0), samples.Of(2, 64)} {
 			for _, w := range badWords() {
 				checkWordErrors(t, g, set, w, api.ErrWord)
 			}
@@ -111,8 +112,8 @@ func TestWrongWords(t *testing.T) {
 			}
 		}
 		for q := 1; q < api.MaxLetter; q++ {
-			checkWordErrors(t, of(q, 2, 0, 0, 1), set, letters[q:q+1], api.ErrWord)
-			checkWordErrors(t, of(q, 2, 0, 0, 1), set, "0"+letters[q:q+1]+"0", api.ErrWord)
+			checkWordErrors(t, samples.Of(q, 2, 0, 0, 1), set, letters[q:q+1], api.ErrWord)
+			checkWordErrors(t, samples.Of(q, 2, 0, 0, 1), set, "0"+letters[q:q+1]+"0", api.ErrWord)
 		}
 		checkWordErrors(t, full(16), set, "g", api.ErrWord)
 		checkWordErrors(t, full(16), set, "F", api.ErrWord)
@@ -126,7 +127,7 @@ func TestWrongWords(t *testing.T) {
 
 // P11.1: numbers of letters below 0 and above the greatest one, also if states are wrong, too; and both bounds.
 func TestWrongLengths(t *testing.T) {
-	for _, g := range []api.Graph{golden(), full(16), of(2, 0), of(1, 64)} {
+	for _, g := range []api.Graph{samples.Golden(), full(16), samples.Of(2, 0), samples.Of(1, 64)} {
 		for _, n := range noLengths() {
 			for _, s := range append(noStates(g), 0) {
 				checkListErrors(t, g, s, 0, n, api.ErrRange)
@@ -134,7 +135,7 @@ func TestWrongLengths(t *testing.T) {
 			}
 		}
 	}
-	g := of(2, 2, 0, 1, 1, 1, 0, 0)
+	g := samples.Of(2, 2, 0, 1, 1, 1, 0, 0)
 	for n, want := range map[int]string{0: "", api.MaxPower: strings.Repeat("01", api.MaxPower/2)} {
 		if list := wordsOf(t, g, n); list[0] != want {
 			t.Errorf("P11.1: Words %v, %d: %q..", g, n, short(list[0]))
@@ -150,7 +151,7 @@ func TestWrongLengths(t *testing.T) {
 
 // P11.1: states that do not exist, each of both, before the limit.
 func TestWrongStates(t *testing.T) {
-	for _, g := range []api.Graph{golden(), full(16), of(2, 0), of(1, 63), chain(2, 64, true)} {
+	for _, g := range []api.Graph{samples.Golden(), full(16), samples.Of(2, 0), samples.Of(1, 63), chain(2, 64, true)} {
 		for _, s := range noStates(g) {
 			for _, n := range []int{0, 1, 4, 20, api.MaxPower} {
 				checkStateErrors(t, g, s, s, n, api.ErrState)
@@ -184,18 +185,18 @@ func TestWrongSets(t *testing.T) {
 	for _, set := range [][]int{{0, 0}, {1, 0}, {4, 4}, {4, 3}, {0, 1, 1}, {0, 0, 1}, {0, 2, 1}, {1, 0, 2}, {0, 1, 2, 3, 4, 0}, slices.Repeat([]int{3}, 100000)} {
 		check(set, api.ErrOrder)
 	}
-	if ends, e := language.Ends(of(2, 0), []int{0}, ""); e != api.ErrState || len(ends) > 0 {
+	if ends, e := language.Ends(samples.Of(2, 0), []int{0}, ""); e != api.ErrState || len(ends) > 0 {
 		t.Errorf("P11.1: Ends without states: %v, %d", ends, e)
 	}
 }
 
 // P11.1: no function changes its arguments, and what a caller does with results changes neither the arguments nor other results.
 func TestMemory(t *testing.T) {
-	for _, g := range []api.Graph{golden(), stairs(), full(3), chain(2, 5, true)} {
-		edges, set := slices.Clone(g.Edges), states(g)
+	for _, g := range []api.Graph{samples.Golden(), samples.Stairs(), full(3), chain(2, 5, true)} {
+		edges, set := slices.Clone(g.Edges), samples.All(g)
 		for range 3 {
 			ends, path := endsOf(t, g, set, ""), pathOf(t, g, "001")
-			if !slices.Equal(ends, states(g)) || !slices.Equal(path, pathOf(t, g, "001")) || !isPath(g, "001", path) {
+			if !slices.Equal(ends, samples.All(g)) || !slices.Equal(path, pathOf(t, g, "001")) || !isPath(g, "001", path) {
 				t.Fatalf("P11.1: ends or the path of %v have changed: %v, %v", g, ends, path)
 			}
 			for _, list := range [][]int{ends, path} {
@@ -213,7 +214,7 @@ func TestMemory(t *testing.T) {
 					t.Fatalf("P11.1: words of %v have changed", g)
 				}
 			}
-			if !slices.Equal(g.Edges, edges) || !slices.Equal(set, states(g)) {
+			if !slices.Equal(g.Edges, edges) || !slices.Equal(set, samples.All(g)) {
 				t.Fatalf("P11.1: %v, or a set of its states, has changed", g)
 			}
 		}

@@ -8,27 +8,11 @@ import (
 	"testing"
 
 	"groove/api"
-	"groove/graph"
 	"groove/language"
+	"groove/samples"
 )
 
 const letters = "0123456789abcdef"
-
-// of returns the graph with some labels and states, and the edges whose numbers follow each other: from, label, to.
-func of(labels, states int, numbers ...int) api.Graph {
-	var edges []api.Edge
-	for i := 0; i < len(numbers); i += 3 {
-		edges = append(edges, api.Edge{From: numbers[i], Label: numbers[i+1], To: numbers[i+2]})
-	}
-	g, e := graph.Make(labels, states, edges)
-	if e != api.OK {
-		panic(e)
-	}
-	return g
-}
-
-// golden returns the graph whose words have no two letters 1 in a row.
-func golden() api.Graph { return of(2, 2, 0, 0, 0, 0, 1, 1, 1, 0, 0) }
 
 // full returns the graph of all words over q letters.
 func full(q int) api.Graph { return chain(q, 1, true) }
@@ -41,7 +25,7 @@ func line(q, n int, labels ...int) api.Graph {
 			numbers = append(numbers, s, label, s+1)
 		}
 	}
-	return of(q, n, numbers...)
+	return samples.Of(q, n, numbers...)
 }
 
 // chain returns the path through n states, from each of which all of q labels lead to the next one, and from the last one to itself, if it goes on.
@@ -59,9 +43,6 @@ func chain(q, n int, goesOn bool) api.Graph {
 	return g
 }
 
-// stairs returns the graph whose words have no letter 0 behind a letter 1: there are n + 1 of n letters.
-func stairs() api.Graph { return of(2, 2, 0, 0, 0, 0, 1, 1, 1, 1, 1) }
-
 // without returns the graph of all words over q letters that do not contain a word, which is not empty: the states are the numbers of letters of it that have been read.
 func without(q int, w string) api.Graph {
 	var numbers []int
@@ -77,56 +58,19 @@ func without(q int, w string) api.Graph {
 			}
 		}
 	}
-	return of(q, len(w), numbers...)
+	return samples.Of(q, len(w), numbers...)
 }
 
-// beside returns the graph that consists of two graphs with equally many labels, the states of the second one behind those of the first one.
-func beside(a, b api.Graph) api.Graph {
-	edges := slices.Clone(a.Edges)
-	for _, edge := range b.Edges {
-		edges = append(edges, api.Edge{From: edge.From + a.States, Label: edge.Label, To: edge.To + a.States})
-	}
-	g, e := graph.Make(a.Labels, a.States+b.States, edges)
-	if e != api.OK {
-		panic(e)
-	}
-	return g
-}
-
-// subgraphs returns all graphs with some labels and states.
-func subgraphs(labels, states int) []api.Graph {
-	var list []api.Graph
-	for bits := range 1 << (labels * states * states) {
-		g := api.Graph{Labels: labels, States: states}
-		for i := range labels * states * states {
-			if bits>>i&1 == 1 {
-				g.Edges = append(g.Edges, api.Edge{From: i / (labels * states), Label: i / states % labels, To: i % states})
-			}
-		}
-		list = append(list, g)
-	}
-	return list
-}
-
-// random returns a graph with some labels, states and edges, some of which may be equal.
-func random(r *rand.Rand, labels, states, edges int) api.Graph {
-	var numbers []int
-	for range edges {
-		numbers = append(numbers, r.Intn(states), r.Intn(labels), r.Intn(states))
-	}
-	return of(labels, states, numbers...)
-}
-
-// samples returns valid graphs of all kinds: all small ones, and random ones, with few and many edges and states.
-func samples(seed int64) []api.Graph {
+// graphs returns valid graphs of all kinds: all small ones, and random ones, with few and many edges and states.
+func graphs(seed int64) []api.Graph {
 	r := rand.New(rand.NewSource(seed))
-	list := slices.Concat(subgraphs(1, 0), subgraphs(3, 0), subgraphs(16, 0), subgraphs(1, 1), subgraphs(3, 1), subgraphs(1, 2), subgraphs(2, 2), subgraphs(1, 3))
-	list = append(list, golden(), stairs(), full(16), of(16, 1), of(3, 64), chain(2, 5, false), chain(2, 5, true), without(2, "011"), beside(golden(), stairs()))
+	list := slices.Concat(samples.Subgraphs(1, 0), samples.Subgraphs(3, 0), samples.Subgraphs(16, 0), samples.Subgraphs(1, 1), samples.Subgraphs(3, 1), samples.Subgraphs(1, 2), samples.Subgraphs(2, 2), samples.Subgraphs(1, 3))
+	list = append(list, samples.Golden(), samples.Stairs(), full(16), samples.Of(16, 1), samples.Of(3, 64), chain(2, 5, false), chain(2, 5, true), without(2, "011"), samples.Beside(samples.Golden(), samples.Stairs()))
 	for i := range 150 {
 		states := 1 + r.Intn(8)
-		list = append(list, random(r, 2, states, r.Intn(1+3*states)), random(r, 1+r.Intn(4), states, r.Intn(1+4*states)))
+		list = append(list, samples.Random(r, 2, states, r.Intn(1+3*states)), samples.Random(r, 1+r.Intn(4), states, r.Intn(1+4*states)))
 		if i%10 == 0 {
-			list = append(list, random(r, 2, 64, 60+r.Intn(100)), random(r, 3, 64, 300+r.Intn(700)), random(r, 16, 1+r.Intn(64), 100), random(r, 16, 64, 1024))
+			list = append(list, samples.Random(r, 2, 64, 60+r.Intn(100)), samples.Random(r, 3, 64, 300+r.Intn(700)), samples.Random(r, 16, 1+r.Intn(64), 100), samples.Random(r, 16, 64, 1024))
 		}
 	}
 	return list
@@ -212,18 +156,9 @@ func tablesOf(g api.Graph, words []string) map[string]table {
 	return tables
 }
 
-// states returns the states of g.
-func states(g api.Graph) []int {
-	var list []int
-	for s := range g.States {
-		list = append(list, s)
-	}
-	return list
-}
-
 // randomSet returns some of the states of g.
 func randomSet(r *rand.Rand, g api.Graph) []int {
-	return slices.DeleteFunc(states(g), func(s int) bool { return r.Intn(2) == 0 })
+	return slices.DeleteFunc(samples.All(g), func(s int) bool { return r.Intn(2) == 0 })
 }
 
 // accepts returns whether w is a word of g, for which there is no error.
@@ -298,24 +233,4 @@ func noStates(g api.Graph) []int {
 // noLengths are numbers of letters that are too small or too great.
 func noLengths() []int {
 	return []int{-1, -2, -4096, math.MinInt, math.MinInt + 1, api.MaxPower + 1, api.MaxPower + 2, api.MaxWord, 1 << 32, 1<<32 + 1, math.MaxInt - 1, math.MaxInt}
-}
-
-// faults returns graphs that are not valid: wrong labels, states, edges, orders and numbers of edges.
-func faults() []api.Graph {
-	edge := func(from, label, to int) api.Edge { return api.Edge{From: from, Label: label, To: to} }
-	list := []api.Graph{
-		{}, {Labels: 1, States: 1, Edges: make([]api.Edge, 2)}, {Labels: 1, States: 1, Edges: make([]api.Edge, api.MaxEdge+1)}, {Labels: 2, States: 0, Edges: []api.Edge{edge(0, 0, 0)}},
-		{Labels: 1, States: 2, Edges: []api.Edge{edge(1, 0, 0), edge(0, 0, 1)}}, {Labels: 2, States: 2, Edges: []api.Edge{edge(0, 1, 1), edge(0, 0, 1), edge(1, 0, 0)}}, {Labels: 1, States: 2, Edges: []api.Edge{edge(0, 0, 1), edge(0, 0, 0), edge(1, 0, 0)}},
-		{Labels: 17, States: 2, Edges: []api.Edge{edge(1, 0, 0), edge(0, 0, 1)}}, {Labels: 256, States: 2, Edges: []api.Edge{edge(0, 256, 0)}},
-	}
-	for _, labels := range []int{0, -1, -2, 257, 1 << 32, math.MinInt, math.MaxInt} {
-		list = append(list, api.Graph{Labels: labels}, api.Graph{Labels: labels, States: 1, Edges: []api.Edge{edge(0, 0, 0)}})
-	}
-	for _, n := range []int{-1, 65, 1 << 32, math.MinInt, math.MaxInt} {
-		list = append(list, api.Graph{Labels: 2, States: n}, api.Graph{Labels: 2, States: n, Edges: []api.Edge{edge(0, 0, 0)}})
-	}
-	for _, n := range []int{-1, -2, 2, 3, 64, 1 << 32, math.MinInt, math.MaxInt} {
-		list = append(list, api.Graph{Labels: 2, States: 2, Edges: []api.Edge{edge(n, 0, 0)}}, api.Graph{Labels: 2, States: 2, Edges: []api.Edge{edge(0, n, 0)}}, api.Graph{Labels: 2, States: 2, Edges: []api.Edge{edge(0, 0, 0), edge(1, 1, n)}})
-	}
-	return list
 }

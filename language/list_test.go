@@ -8,12 +8,13 @@ import (
 
 	"groove/api"
 	"groove/language"
+	"groove/samples"
 )
 
 // P11.3, P11.4: the lists of words of a few letters, for graphs of all kinds, against the definitions: all words, from each state, and between each pair of states.
 func TestListsByDefinition(t *testing.T) {
 	r := rand.New(rand.NewSource(41))
-	for _, g := range samples(42) {
+	for _, g := range graphs(42) {
 		for n := range depth(g) + 1 {
 			words := all(g.Labels, n)
 			tables := tablesOf(g, words)
@@ -39,25 +40,25 @@ func TestListsByDefinition(t *testing.T) {
 // some returns all states of a small graph, and some of those of a great one.
 func some(r *rand.Rand, g api.Graph) []int {
 	if g.States <= 8 {
-		return states(g)
+		return samples.All(g)
 	}
 	return []int{0, r.Intn(g.States), g.States - 1}
 }
 
 // P11.3: known lists: without states and edges, of no letters, of one, of words that end in several states, with labels that no edge has, and with 16 labels.
 func TestKnownLists(t *testing.T) {
-	split := of(2, 3, 0, 0, 1, 0, 0, 2, 1, 1, 0, 2, 0, 2)
-	one := of(16, 2, 0, 11, 1, 0, 14, 1, 1, 2, 1)
+	split := samples.Of(2, 3, 0, 0, 1, 0, 0, 2, 1, 1, 0, 2, 0, 2)
+	one := samples.Of(16, 2, 0, 11, 1, 0, 14, 1, 1, 2, 1)
 	for _, c := range []struct {
 		g    api.Graph
 		n    int
 		want []string
 	}{
-		{of(1, 0), 0, nil}, {of(1, 0), 1, nil}, {of(2, 0), api.MaxPower, nil}, {of(16, 0), 3, nil}, {of(2, 1), 0, []string{""}}, {of(2, 1), 1, nil}, {of(2, 1), api.MaxPower, nil}, {of(1, 64), 0, []string{""}}, {of(1, 64), 2, nil},
-		{golden(), 0, []string{""}}, {golden(), 1, []string{"0", "1"}}, {golden(), 3, []string{"000", "001", "010", "100", "101"}}, {golden(), 4, []string{"0000", "0001", "0010", "0100", "0101", "1000", "1001", "1010"}}, {full(16), 1, strings.Split(letters, "")},
+		{samples.Of(1, 0), 0, nil}, {samples.Of(1, 0), 1, nil}, {samples.Of(2, 0), api.MaxPower, nil}, {samples.Of(16, 0), 3, nil}, {samples.Of(2, 1), 0, []string{""}}, {samples.Of(2, 1), 1, nil}, {samples.Of(2, 1), api.MaxPower, nil}, {samples.Of(1, 64), 0, []string{""}}, {samples.Of(1, 64), 2, nil},
+		{samples.Golden(), 0, []string{""}}, {samples.Golden(), 1, []string{"0", "1"}}, {samples.Golden(), 3, []string{"000", "001", "010", "100", "101"}}, {samples.Golden(), 4, []string{"0000", "0001", "0010", "0100", "0101", "1000", "1001", "1010"}}, {full(16), 1, strings.Split(letters, "")},
 		{split, 1, []string{"0", "1"}}, {split, 2, []string{"00", "01", "10"}}, {split, 3, []string{"000", "010", "100", "101"}}, {split, 4, []string{"0000", "0100", "0101", "1000", "1010"}},
 		{one, 1, []string{"2", "b", "e"}}, {one, 2, []string{"22", "b2", "e2"}}, {chain(2, 3, false), 2, []string{"00", "01", "10", "11"}}, {chain(2, 3, false), 3, nil}, {chain(2, 3, false), api.MaxPower, nil},
-		{of(3, 2, 1, 1, 1), 5, []string{"11111"}}, {of(2, 4, 0, 0, 1, 1, 1, 2, 2, 0, 3), 3, []string{"010"}}, {of(2, 4, 0, 0, 1, 1, 1, 2, 2, 0, 3), 2, []string{"01", "10"}}, {of(2, 4, 0, 0, 1, 1, 1, 2, 2, 0, 3), 4, nil},
+		{samples.Of(3, 2, 1, 1, 1), 5, []string{"11111"}}, {samples.Of(2, 4, 0, 0, 1, 1, 1, 2, 2, 0, 3), 3, []string{"010"}}, {samples.Of(2, 4, 0, 0, 1, 1, 1, 2, 2, 0, 3), 2, []string{"01", "10"}}, {samples.Of(2, 4, 0, 0, 1, 1, 1, 2, 2, 0, 3), 4, nil},
 	} {
 		if list := wordsOf(t, c.g, c.n); !slices.Equal(list, c.want) {
 			t.Errorf("P11.3: Words %v, %d: %v", c.g, c.n, list)
@@ -70,7 +71,7 @@ func TestKnownLists(t *testing.T) {
 	}{
 		{split, 0, 0, 0, []string{""}, []string{""}}, {split, 0, 1, 0, []string{""}, nil}, {split, 2, 2, 0, []string{""}, []string{""}}, {split, 0, 1, 1, []string{"0"}, []string{"0"}}, {split, 0, 2, 1, []string{"0"}, []string{"0"}}, {split, 0, 0, 1, []string{"0"}, nil},
 		{split, 0, 2, 3, []string{"000", "010"}, []string{"000", "010"}}, {split, 0, 1, 3, []string{"000", "010"}, []string{"010"}}, {split, 0, 0, 3, []string{"000", "010"}, nil}, {split, 2, 2, 3, []string{"000"}, []string{"000"}}, {split, 2, 0, 3, []string{"000"}, nil}, {split, 1, 2, 3, []string{"100", "101"}, []string{"100"}}, {split, 1, 0, 3, []string{"100", "101"}, []string{"101"}},
-		{one, 0, 1, 2, []string{"b2", "e2"}, []string{"b2", "e2"}}, {one, 0, 0, 2, []string{"b2", "e2"}, nil}, {one, 1, 1, 4, []string{"2222"}, []string{"2222"}}, {of(1, 64), 63, 63, 0, []string{""}, []string{""}}, {of(1, 64), 63, 63, 1, nil, nil}, {chain(1, 64, false), 0, 63, 63, []string{strings.Repeat("0", 63)}, []string{strings.Repeat("0", 63)}}, {chain(1, 64, false), 1, 63, 63, nil, nil},
+		{one, 0, 1, 2, []string{"b2", "e2"}, []string{"b2", "e2"}}, {one, 0, 0, 2, []string{"b2", "e2"}, nil}, {one, 1, 1, 4, []string{"2222"}, []string{"2222"}}, {samples.Of(1, 64), 63, 63, 0, []string{""}, []string{""}}, {samples.Of(1, 64), 63, 63, 1, nil, nil}, {chain(1, 64, false), 0, 63, 63, []string{strings.Repeat("0", 63)}, []string{strings.Repeat("0", 63)}}, {chain(1, 64, false), 1, 63, 63, nil, nil},
 	} {
 		if list := fromOf(t, c.g, c.s, c.n); !slices.Equal(list, c.from) {
 			t.Errorf("P11.3: From %v, %d, %d: %v", c.g, c.s, c.n, list)
@@ -83,7 +84,7 @@ func TestKnownLists(t *testing.T) {
 
 // P11.3, P11.4: longer lists ascend, have words of the graph only, of which the beginnings stand in shorter lists, and are those from all states, and between all pairs of states, together; what goes on with a letter is in the next list.
 func TestLists(t *testing.T) {
-	for _, g := range samples(43) {
+	for _, g := range graphs(43) {
 		if g.States > 8 || g.Labels > 4 {
 			continue
 		}
@@ -149,7 +150,7 @@ func TestLimit(t *testing.T) {
 		n    int
 		want []string
 	}{
-		{full(2), 12, all(2, 12)}, {full(4), 6, all(4, 6)}, {full(8), 4, all(8, 4)}, {full(16), 3, all(16, 3)}, {full(3), 7, all(3, 7)}, {full(1), api.MaxPower, all(1, api.MaxPower)}, {chain(2, 13, false), 12, all(2, 12)}, {stairs(), api.MaxList - 1, steps(api.MaxList - 1)},
+		{full(2), 12, all(2, 12)}, {full(4), 6, all(4, 6)}, {full(8), 4, all(8, 4)}, {full(16), 3, all(16, 3)}, {full(3), 7, all(3, 7)}, {full(1), api.MaxPower, all(1, api.MaxPower)}, {chain(2, 13, false), 12, all(2, 12)}, {samples.Stairs(), api.MaxList - 1, steps(api.MaxList - 1)},
 	} {
 		if list := wordsOf(t, c.g, c.n); !slices.Equal(list, c.want) {
 			t.Errorf("P11.3: Words %v, %d: %d words", c.g, c.n, len(list))
@@ -167,9 +168,9 @@ func TestLimit(t *testing.T) {
 			}
 		}
 	}
-	checkLimit(t, stairs(), 0, 1, api.MaxList)
+	checkLimit(t, samples.Stairs(), 0, 1, api.MaxList)
 	// One more word than there can be of 12 letters, from a state beside.
-	more := beside(line(3, 13, 0, 1), line(3, 13, 2))
+	more := samples.Beside(line(3, 13, 0, 1), line(3, 13, 2))
 	for _, n := range []int{12, 13, 14, api.MaxPower} {
 		if list, e := language.Words(more, n); e != api.ErrLimit || len(list) > 0 {
 			t.Errorf("P11.3: Words of 12 letters and one more, %d: %d words, %d", n, len(list), e)
@@ -201,7 +202,7 @@ func checkLimit(t *testing.T, g api.Graph, s, u, n int) {
 func TestLimitOfShorterWords(t *testing.T) {
 	none := chain(2, 14, false)
 	// From 14 letters on, the only word is that of the state 14, which leads to itself.
-	few := beside(none, of(2, 1, 0, 1, 0))
+	few := samples.Beside(none, samples.Of(2, 1, 0, 1, 0))
 	for _, n := range []int{13, 14, 15, 26, 100, api.MaxPower} {
 		checkLimit(t, none, 0, 13, n)
 		checkLimit(t, few, 0, 13, n)
@@ -229,7 +230,7 @@ func TestLimitOfShorterWords(t *testing.T) {
 
 // P11.3: for words from a state, and between two states, those that begin in this state are counted only.
 func TestLimitOfState(t *testing.T) {
-	g := beside(of(2, 2, 0, 1, 1, 1, 1, 0), full(2))
+	g := samples.Beside(samples.Of(2, 2, 0, 1, 1, 1, 1, 0), full(2))
 	for _, n := range []int{13, 20, 1000, api.MaxPower} {
 		ones := strings.Repeat("1", n)
 		for s := range 2 {
@@ -245,11 +246,11 @@ func TestLimitOfState(t *testing.T) {
 		checkLimit(t, g, 2, 2, n)
 		checkLimit(t, g, 2, 0, n)
 	}
-	if list := fromOf(t, stairs(), 1, api.MaxPower); !slices.Equal(list, []string{strings.Repeat("1", api.MaxPower)}) {
+	if list := fromOf(t, samples.Stairs(), 1, api.MaxPower); !slices.Equal(list, []string{strings.Repeat("1", api.MaxPower)}) {
 		t.Errorf("P11.3: From 1 of the stairs: %d words", len(list))
 	}
-	checkLimit(t, stairs(), 0, 0, api.MaxList)
-	if list := betweenOf(t, stairs(), 0, 0, 4000); !slices.Equal(list, []string{strings.Repeat("0", 4000)}) {
+	checkLimit(t, samples.Stairs(), 0, 0, api.MaxList)
+	if list := betweenOf(t, samples.Stairs(), 0, 0, 4000); !slices.Equal(list, []string{strings.Repeat("0", 4000)}) {
 		t.Errorf("P11.3: Between 0 and 0 of the stairs: %d words", len(list))
 	}
 }

@@ -6,13 +6,14 @@ import (
 
 	"groove/api"
 	"groove/language"
+	"groove/samples"
 	"groove/word"
 )
 
 // P11.7: the first missing words of graphs of all kinds, against the definition, for each number of letters up to which all words can be looked at.
 func TestMissing(t *testing.T) {
 	some, none := 0, 0
-	for _, g := range samples(61) {
+	for _, g := range graphs(61) {
 		want, found := "", false
 		for n := range depth(g) + 1 {
 			for _, w := range all(g.Labels, n) {
@@ -38,7 +39,7 @@ func TestMissing(t *testing.T) {
 // P11.7: the first missing word, if there is one, is missing, and no word before it is; it does not depend on the greatest number of letters.
 func TestFirstMissing(t *testing.T) {
 	limited := 0
-	for _, g := range samples(62) {
+	for _, g := range graphs(62) {
 		if g.Labels > 4 {
 			continue
 		}
@@ -83,8 +84,8 @@ func TestKnownMissing(t *testing.T) {
 		g    api.Graph
 		want string
 	}{
-		{of(1, 0), ""}, {of(2, 0), ""}, {of(16, 0), ""}, {of(1, 1), "0"}, {of(2, 1), "0"}, {of(16, 64), "0"}, {of(2, 1, 0, 0, 0), "1"}, {of(2, 1, 0, 1, 0), "0"}, {of(3, 2, 0, 0, 0, 0, 1, 1, 1, 0, 0), "2"}, {of(16, 2, 0, 0, 1, 0, 1, 1, 1, 2, 1), "3"},
-		{golden(), "11"}, {stairs(), "10"}, {of(2, 2, 0, 0, 1, 1, 1, 0), "00"}, {chain(2, 5, false), "00000"}, {chain(1, 64, false), zeros}, {beside(chain(2, 3, false), golden()), "011"}, {beside(golden(), chain(2, 4, false)), "0011"},
+		{samples.Of(1, 0), ""}, {samples.Of(2, 0), ""}, {samples.Of(16, 0), ""}, {samples.Of(1, 1), "0"}, {samples.Of(2, 1), "0"}, {samples.Of(16, 64), "0"}, {samples.Of(2, 1, 0, 0, 0), "1"}, {samples.Of(2, 1, 0, 1, 0), "0"}, {samples.Of(3, 2, 0, 0, 0, 0, 1, 1, 1, 0, 0), "2"}, {samples.Of(16, 2, 0, 0, 1, 0, 1, 1, 1, 2, 1), "3"},
+		{samples.Golden(), "11"}, {samples.Stairs(), "10"}, {samples.Of(2, 2, 0, 0, 1, 1, 1, 0), "00"}, {chain(2, 5, false), "00000"}, {chain(1, 64, false), zeros}, {samples.Beside(chain(2, 3, false), samples.Golden()), "011"}, {samples.Beside(samples.Golden(), chain(2, 4, false)), "0011"},
 		{without(2, "1"), "1"}, {without(2, "01"), "01"}, {without(2, "0110"), "0110"}, {without(3, "222"), "222"}, {without(3, "201"), "201"}, {without(16, "f"), "f"}, {without(16, "a0"), "a0"},
 		// There may be too many words of the length of the missing one, but not of a lesser length.
 		{without(2, ones[:12]), ones[:12]}, {without(2, ones[:13]), ones[:13]}, {without(2, zeros[:13]), zeros[:13]}, {without(2, "0101100101101"), "0101100101101"}, {without(4, "3333333"), "3333333"}, {without(4, "0123210"), "0123210"}, {without(8, "77777"), "77777"}, {without(8, "01234"), "01234"}, {without(16, "ffff"), "ffff"}, {without(16, "0000"), "0000"}, {without(16, "8f07"), "8f07"}, {chain(2, 13, false), zeros[:13]}, {chain(4, 7, false), zeros[:7]}, {without(3, "22222222"), "22222222"},
@@ -105,7 +106,7 @@ func TestMissingAtLimit(t *testing.T) {
 		// most is the greatest number of letters of which there are not too many words.
 		most int
 	}{
-		{full(2), 12}, {full(3), 7}, {full(4), 6}, {full(5), 5}, {full(6), 4}, {full(8), 4}, {full(15), 3}, {full(16), 3}, {chain(2, 64, true), 12}, {beside(golden(), full(2)), 12}, {full(1), api.MaxPower}, {chain(1, 64, true), api.MaxPower},
+		{full(2), 12}, {full(3), 7}, {full(4), 6}, {full(5), 5}, {full(6), 4}, {full(8), 4}, {full(15), 3}, {full(16), 3}, {chain(2, 64, true), 12}, {samples.Beside(samples.Golden(), full(2)), 12}, {full(1), api.MaxPower}, {chain(1, 64, true), api.MaxPower},
 		{without(2, ones[:14]), 12}, {without(2, ones[:64]), 12}, {without(2, "00101101001011"), 12}, {without(4, "33333333"), 6}, {without(16, "fffff"), 3}, {without(16, "00000"), 3}, {without(3, "222222222"), 7}, {chain(2, 14, false), 12}, {chain(16, 5, false), 3}, {chain(4, 8, false), 6},
 	} {
 		for _, n := range []int{0, 1, 2, c.most - 1, c.most} {

@@ -8,6 +8,7 @@ import (
 
 	"groove/api"
 	"groove/language"
+	"groove/samples"
 )
 
 // isPath returns whether a list of indices of edges is a path labelled w.
@@ -64,7 +65,7 @@ func checkPath(t *testing.T, g api.Graph, w string) bool {
 func TestPaths(t *testing.T) {
 	r := rand.New(rand.NewSource(51))
 	long := 0
-	for _, g := range samples(52) {
+	for _, g := range graphs(52) {
 		for _, w := range upTo(g.Labels, depth(g)) {
 			checkPath(t, g, w)
 		}
@@ -82,7 +83,7 @@ func TestPaths(t *testing.T) {
 // P11.6: among all lists of edges of small graphs, the path that is returned is the least one that is a path labelled with the word.
 func TestAllLists(t *testing.T) {
 	several := 0
-	for _, g := range subgraphs(2, 2) {
+	for _, g := range samples.Subgraphs(2, 2) {
 		if len(g.Edges) > 5 {
 			continue
 		}
@@ -122,9 +123,9 @@ func TestAllLists(t *testing.T) {
 
 // P11.6: known paths: of no edges, in graphs without states and edges, where the first edge, or one within, has to be a later one because of the last letter, and where the least edge leaves a later state.
 func TestKnownPaths(t *testing.T) {
-	choice := of(3, 4, 0, 0, 1, 0, 0, 2, 1, 0, 0, 2, 0, 0, 2, 1, 3, 3, 0, 3)
-	twice := of(2, 2, 0, 0, 0, 1, 0, 1, 1, 1, 1)
-	stay := of(2, 2, 0, 0, 0, 0, 0, 1, 1, 1, 1)
+	choice := samples.Of(3, 4, 0, 0, 1, 0, 0, 2, 1, 0, 0, 2, 0, 0, 2, 1, 3, 3, 0, 3)
+	twice := samples.Of(2, 2, 0, 0, 0, 1, 0, 1, 1, 1, 1)
+	stay := samples.Of(2, 2, 0, 0, 0, 0, 0, 1, 1, 1, 1)
 	zeros := func(n int) []int { return make([]int, n) }
 	long := strings.Repeat("0", api.MaxWord-1) + "1"
 	for i, c := range []struct {
@@ -133,11 +134,11 @@ func TestKnownPaths(t *testing.T) {
 		want []int
 		e    api.Errno
 	}{
-		{of(2, 0), "", nil, api.ErrWord}, {of(2, 0), "0", nil, api.ErrWord}, {of(2, 1), "", nil, api.OK}, {of(2, 1), "1", nil, api.ErrWord}, {golden(), "", nil, api.OK}, {golden(), "11", nil, api.ErrWord}, {golden(), "0110", nil, api.ErrWord}, {golden(), "0101001", []int{0, 1, 2, 1, 2, 0, 1}, api.OK},
+		{samples.Of(2, 0), "", nil, api.ErrWord}, {samples.Of(2, 0), "0", nil, api.ErrWord}, {samples.Of(2, 1), "", nil, api.OK}, {samples.Of(2, 1), "1", nil, api.ErrWord}, {samples.Golden(), "", nil, api.OK}, {samples.Golden(), "11", nil, api.ErrWord}, {samples.Golden(), "0110", nil, api.ErrWord}, {samples.Golden(), "0101001", []int{0, 1, 2, 1, 2, 0, 1}, api.OK},
 		{choice, "0", []int{0}, api.OK}, {choice, "1", []int{4}, api.OK}, {choice, "01", []int{1, 4}, api.OK}, {choice, "00", []int{0, 2}, api.OK}, {choice, "000", []int{0, 2, 0}, api.OK}, {choice, "001", []int{2, 1, 4}, api.OK}, {choice, "0001", []int{0, 2, 1, 4}, api.OK}, {choice, "10", []int{4, 5}, api.OK}, {choice, "010", []int{1, 4, 5}, api.OK}, {choice, "2", nil, api.ErrWord}, {choice, "0101", nil, api.ErrWord},
 		{twice, "0", []int{0}, api.OK}, {twice, "1", []int{2}, api.OK}, {twice, "01", []int{1, 2}, api.OK}, {twice, "10", []int{2, 1}, api.OK}, {stay, "01", []int{1, 2}, api.OK}, {stay, "0001", []int{0, 0, 1, 2}, api.OK}, {stay, "00011", []int{0, 0, 1, 2, 2}, api.OK}, {stay, "10", nil, api.ErrWord},
 		{twice, long, append(slices.Repeat([]int{1}, len(long)-1), 2), api.OK}, {stay, long, append(zeros(len(long)-2), 1, 2), api.OK}, {stay, strings.Repeat("0", len(long)), zeros(len(long)), api.OK}, {twice, strings.Repeat("0", len(long)), zeros(len(long)), api.OK}, {stay, long[:len(long)-2] + "10", nil, api.ErrWord},
-		{full(16), letters, []int{0, 1, 2, 3, 4, 5, 6, 7, 8, 9, 10, 11, 12, 13, 14, 15}, api.OK}, {chain(2, 64, false), "101", []int{1, 2, 5}, api.OK}, {chain(2, 64, false), long[:64], nil, api.ErrWord}, {of(1, 64, 63, 0, 63), "000", zeros(3), api.OK}, {of(2, 64, 0, 0, 5, 5, 1, 63, 62, 0, 0, 63, 1, 62), "1100", []int{1, 3, 2, 0}, api.OK},
+		{full(16), letters, []int{0, 1, 2, 3, 4, 5, 6, 7, 8, 9, 10, 11, 12, 13, 14, 15}, api.OK}, {chain(2, 64, false), "101", []int{1, 2, 5}, api.OK}, {chain(2, 64, false), long[:64], nil, api.ErrWord}, {samples.Of(1, 64, 63, 0, 63), "000", zeros(3), api.OK}, {samples.Of(2, 64, 0, 0, 5, 5, 1, 63, 62, 0, 0, 63, 1, 62), "1100", []int{1, 3, 2, 0}, api.OK},
 	} {
 		if path, e := language.Path(c.g, c.w); e != c.e || !slices.Equal(path, c.want) {
 			t.Errorf("P11.6: case %d: Path %q: %v.., %d", i, short(c.w), path[:min(len(path), 40)], e)

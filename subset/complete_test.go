@@ -7,6 +7,7 @@ import (
 
 	"groove/api"
 	"groove/graph"
+	"groove/samples"
 )
 
 // checkComplete checks the completed automaton of a deterministic graph: that it goes where the edges go, and that it never stops.
@@ -57,7 +58,7 @@ func TestComplete(t *testing.T) {
 func TestMissingEdges(t *testing.T) {
 	r := rand.New(rand.NewSource(14))
 	for _, size := range [][2]int{{1, 1}, {1, 64}, {2, 1}, {2, 2}, {3, 7}, {16, 64}, {256, 1}, {256, 4}} {
-		g := randomDeterministic(r, size[0], size[1], 0)
+		g := samples.Deterministic(r, size[0], size[1], 0)
 		checkComplete(t, g)
 		if _, sink := completeOf(t, g); len(sink) > 0 {
 			t.Errorf("P12.6: Complete %v: %v, but it lacks no edge", size, sink)
@@ -70,9 +71,9 @@ func TestMissingEdges(t *testing.T) {
 				t.Errorf("P12.6: Complete %v without the edge %v goes to another state", size, g.Edges[i])
 			}
 		}
-		checkComplete(t, of(size[0], size[1]))
+		checkComplete(t, samples.Of(size[0], size[1]))
 	}
-	checkComplete(t, of(256, 64))
+	checkComplete(t, samples.Of(256, 64))
 }
 
 // P12.6: known automata; one without states has no further state.
@@ -82,13 +83,13 @@ func TestKnownAutomata(t *testing.T) {
 		next [][]int
 		sink []int
 	}{
-		{golden(), [][]int{{0, 1}, {0, 2}, {2, 2}}, []int{2}},
-		{even(), [][]int{{1, 0}, {0, 2}, {2, 2}}, []int{2}},
-		{with(golden(), 1, 2, 1), [][]int{{0, 1}, {0, 1}}, nil},
-		{of(3, 1), [][]int{{1, 1, 1}, {1, 1, 1}}, []int{1}},
-		{of(2, 2, 0, 1, 0, 1, 0, 1), [][]int{{2, 0}, {1, 2}, {2, 2}}, []int{2}},
-		{cycles(3), [][]int{{1}, {2}, {0}}, nil}, {line(1, 3), [][]int{{1}, {2}, {3}, {3}}, []int{3}},
-		{of(1, 0), nil, nil}, {of(256, 0), nil, nil},
+		{samples.Golden(), [][]int{{0, 1}, {0, 2}, {2, 2}}, []int{2}},
+		{samples.Even(), [][]int{{1, 0}, {0, 2}, {2, 2}}, []int{2}},
+		{samples.With(samples.Golden(), 1, 2, 1), [][]int{{0, 1}, {0, 1}}, nil},
+		{samples.Of(3, 1), [][]int{{1, 1, 1}, {1, 1, 1}}, []int{1}},
+		{samples.Of(2, 2, 0, 1, 0, 1, 0, 1), [][]int{{2, 0}, {1, 2}, {2, 2}}, []int{2}},
+		{samples.Cycles(3), [][]int{{1}, {2}, {0}}, nil}, {samples.Line(1, 3), [][]int{{1}, {2}, {3}, {3}}, []int{3}},
+		{samples.Of(1, 0), nil, nil}, {samples.Of(256, 0), nil, nil},
 	}
 	for _, c := range list {
 		if a, sink := completeOf(t, c.g); a.Letters != c.g.Labels || !isSame(a.Next, c.next) || !slices.Equal(sink, c.sink) {

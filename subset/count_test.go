@@ -8,6 +8,7 @@ import (
 	"groove/api"
 	"groove/integer"
 	"groove/language"
+	"groove/samples"
 	"groove/subset"
 )
 
@@ -19,7 +20,7 @@ func numbers(g api.Graph, n int) []api.Int {
 	sets := map[string][]int{}
 	words := map[string]*big.Int{}
 	if g.States > 0 {
-		sets[key(all(g))], words[key(all(g))] = all(g), big.NewInt(1)
+		sets[samples.Key(samples.All(g))], words[samples.Key(samples.All(g))] = samples.All(g), big.NewInt(1)
 	}
 	targets := map[string][]string{}
 	var list []api.Int
@@ -30,9 +31,9 @@ func numbers(g api.Graph, n int) []api.Int {
 			if _, known := targets[k]; !known {
 				targets[k] = []string{}
 				for label := range g.Labels {
-					if to := step(g, sets[k], label); len(to) > 0 {
-						sets[key(to)] = to
-						targets[k] = append(targets[k], key(to))
+					if to := samples.Step(g, sets[k], label); len(to) > 0 {
+						sets[samples.Key(to)] = to
+						targets[k] = append(targets[k], samples.Key(to))
 					}
 				}
 			}
@@ -69,7 +70,7 @@ func short(a api.Int) string {
 func TestListed(t *testing.T) {
 	for _, g := range small(8) {
 		for n := range 6 {
-			words := slices.DeleteFunc(lists(g, n), func(labels []int) bool { return len(ends(g, all(g), labels)) == 0 })
+			words := slices.DeleteFunc(samples.Lists(g.Labels, n), func(labels []int) bool { return len(samples.Ends(g, samples.All(g), labels)) == 0 })
 			if number := countOf(t, g, n); number != integer.Of(len(words)) {
 				t.Fatalf("P12.5: Count %v, %d: %s, but there are %d words: %v", g, n, integer.Print(number), len(words), words)
 			}
@@ -89,7 +90,7 @@ func TestLongWords(t *testing.T) {
 			checkCounts(t, g, 0, 1, 2, 3, 17, 40)
 		}
 	}
-	for _, g := range []api.Graph{even(), golden(), line(1, 64), whole(1), whole(2), whole(3), cycles(2, 3), line(3, 9, 8, 1, 0, 3, 2, 3, 3, 2, 5), grid(16, 64)} {
+	for _, g := range []api.Graph{samples.Even(), samples.Golden(), samples.Line(1, 64), samples.Whole(1), samples.Whole(2), samples.Whole(3), samples.Cycles(2, 3), samples.Line(3, 9, 8, 1, 0, 3, 2, 3, 3, 2, 5), samples.Grid(16, 64)} {
 		checkCounts(t, g, 63, 64, 65, 1000, api.MaxPower-1, api.MaxPower)
 	}
 }
@@ -98,20 +99,20 @@ func TestLongWords(t *testing.T) {
 func TestKnownNumbers(t *testing.T) {
 	fibonacci := []int{1, 2, 3, 5, 8, 13, 21, 34, 55, 89, 144, 233, 377, 610, 987, 1597}
 	for n, want := range fibonacci {
-		if number := countOf(t, golden(), n); number != integer.Of(want) {
+		if number := countOf(t, samples.Golden(), n); number != integer.Of(want) {
 			t.Errorf("P12.5: Count of the words without 11, %d: %s", n, integer.Print(number))
 		}
 	}
 	// 101, and longer words of which the letters 0 between two letters 1 are odd, are none.
 	for n, want := range []int{1, 2, 4, 7, 12, 20} {
-		if number := countOf(t, even(), n); number != integer.Of(want) {
+		if number := countOf(t, samples.Even(), n); number != integer.Of(want) {
 			t.Errorf("P12.5: Count of the even shift, %d: %s", n, integer.Print(number))
 		}
 	}
 	for _, labels := range []int{1, 2, 10, 16, 255, 256} {
 		for _, n := range []int{0, 1, 2, 7, 8, 9, 15, 16, 63, 64, 65, api.MaxPower} {
 			want, _ := integer.Power(integer.Of(labels), n)
-			if number := countOf(t, whole(labels), n); number != want {
+			if number := countOf(t, samples.Whole(labels), n); number != want {
 				t.Errorf("P12.5: Count of all words over %d labels, %d: %s", labels, n, short(number))
 			}
 		}
@@ -121,13 +122,12 @@ func TestKnownNumbers(t *testing.T) {
 		if n < 64 {
 			want = 1
 		}
-		if number := countOf(t, line(1, 64), n); number != integer.Of(want) {
+		if number := countOf(t, samples.Line(1, 64), n); number != integer.Of(want) {
 			t.Errorf("P12.5: Count of a path, %d: %s", n, integer.Print(number))
 		}
 	}
-	stairs := of(2, 2, 0, 0, 0, 0, 1, 1, 1, 1, 1)
 	for _, n := range []int{0, 1, 2, 254, 255, 256, 257, api.MaxPower} {
-		if number := countOf(t, stairs, n); number != integer.Of(n+1) {
+		if number := countOf(t, samples.Stairs(), n); number != integer.Of(n+1) {
 			t.Errorf("P12.5: Count of the words without 10, %d: %s", n, integer.Print(number))
 		}
 	}
@@ -137,11 +137,11 @@ func TestKnownNumbers(t *testing.T) {
 func TestNoWords(t *testing.T) {
 	for _, n := range []int{0, 1, 2, 64, api.MaxPower} {
 		for _, labels := range []int{1, 2, 256} {
-			if number := countOf(t, of(labels, 0), n); number != (api.Int{}) {
+			if number := countOf(t, samples.Of(labels, 0), n); number != (api.Int{}) {
 				t.Errorf("P12.5: Count without states, %d: %s", n, integer.Print(number))
 			}
 			for _, states := range []int{1, 2, 64} {
-				if number := countOf(t, of(labels, states), n); number != integer.Of(max(0, 1-n)) {
+				if number := countOf(t, samples.Of(labels, states), n); number != integer.Of(max(0, 1-n)) {
 					t.Errorf("P12.5: Count without edges, %d: %s", n, integer.Print(number))
 				}
 			}

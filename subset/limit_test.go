@@ -4,40 +4,20 @@ import (
 	"testing"
 
 	"groove/api"
+	"groove/samples"
 	"groove/subset"
 )
 
-// seven returns a graph whose sets are all 7 sets of its 3 states, with some labels that lead on from all of them, and some from the 4 sets with the state 0 only; the first 3 labels lead on from 6 sets, and so do some others.
-func seven(everywhere, some, few int) api.Graph {
-	labels := 3 + everywhere + some + few
-	g := with(api.Graph{Labels: labels, States: 3}, 0, 1, 0, 1)
-	g = with(with(g, 1, 2, 0, 2), 2, 3, 1, 2)
-	g = with(g, 3, 3+everywhere, 0, 1, 2)
-	g = with(g, 3+everywhere, 3+everywhere+some, 0, 1)
-	return with(g, labels-few, labels, 0)
-}
-
-// grid returns the graph with some states, in which each label leads from each of them to the next one, and from the last one to the first one.
-func grid(labels, states int) api.Graph {
-	var edges []api.Edge
-	for s := range states {
-		for label := range labels {
-			edges = append(edges, api.Edge{From: s, Label: label, To: (s + 1) % states})
-		}
-	}
-	return made(labels, states, edges)
-}
-
 // tail returns a cycle of 7 states and one of 9, from both of which sets of one state each are reached at once, by a path of n edges from the last state on.
 func tail(n int) api.Graph {
-	edges := cycles(7, 9).Edges
+	edges := samples.Cycles(7, 9).Edges
 	s := 15 + n
 	for range n - 1 {
 		edges = append(edges, api.Edge{From: s, To: s - 1})
 		s--
 	}
 	edges = append(edges, api.Edge{From: s, To: 0}, api.Edge{From: s, To: 7})
-	return made(1, 16+n, edges)
+	return samples.Made(1, 16+n, edges)
 }
 
 // P12.1: exactly as many sets as there may be, and one more; exactly as many edges, and one more.
@@ -48,26 +28,26 @@ func TestLimits(t *testing.T) {
 		first         []int
 		states, edges int
 	}{
-		{"line", line(1, 64), nil, 64, 63},
-		{"line, to a set that is found again", line(2, 64, 0, 1, 63), nil, 64, 64},
-		{"line, to one more", line(2, 64, 0, 1, 62), nil, 65, 66},
-		{"line, to two more", line(2, 64, 0, 1, 61), nil, 66, 68},
-		{"cycles of 9 and 7", cycles(9, 7), []int{0, 9}, 63, 63},
+		{"line", samples.Line(1, 64), nil, 64, 63},
+		{"line, to a set that is found again", samples.Line(2, 64, 0, 1, 63), nil, 64, 64},
+		{"line, to one more", samples.Line(2, 64, 0, 1, 62), nil, 65, 66},
+		{"line, to two more", samples.Line(2, 64, 0, 1, 61), nil, 66, 68},
+		{"cycles of 9 and 7", samples.Cycles(9, 7), []int{0, 9}, 63, 63},
 		{"a path to them", tail(1), []int{16}, 64, 64},
 		{"a longer path to them", tail(2), []int{17}, 65, 65},
-		{"cycles of 5 and 13", cycles(5, 13), []int{0, 5}, 65, 65},
-		{"cycle of 64", cycles(64), []int{3}, 64, 64},
-		{"16 labels on a cycle of 64", grid(16, 64), []int{63}, 64, 1024},
-		{"256 labels on a cycle of 4", grid(256, 4), []int{0}, 4, 1024},
-		{"7 sets, 1024 edges", seven(142, 0, 3), nil, 7, 1024},
-		{"7 sets, 1025 edges", seven(143, 1, 0), nil, 7, 1025},
-		{"7 sets, 1023 edges", seven(143, 0, 1), nil, 7, 1023},
-		{"7 sets, many edges", seven(253, 0, 0), nil, 7, 1789},
+		{"cycles of 5 and 13", samples.Cycles(5, 13), []int{0, 5}, 65, 65},
+		{"cycle of 64", samples.Cycles(64), []int{3}, 64, 64},
+		{"16 labels on a cycle of 64", samples.Grid(16, 64), []int{63}, 64, 1024},
+		{"256 labels on a cycle of 4", samples.Grid(256, 4), []int{0}, 4, 1024},
+		{"7 sets, 1024 edges", samples.Seven(142, 0, 3), nil, 7, 1024},
+		{"7 sets, 1025 edges", samples.Seven(143, 1, 0), nil, 7, 1025},
+		{"7 sets, 1023 edges", samples.Seven(143, 0, 1), nil, 7, 1023},
+		{"7 sets, many edges", samples.Seven(253, 0, 0), nil, 7, 1789},
 	}
 	for _, c := range list {
 		first := c.first
 		if first == nil {
-			first = all(c.g)
+			first = samples.All(c.g)
 		}
 		want := api.OK
 		if c.states > api.MaxState || c.edges > api.MaxEdge {
@@ -99,7 +79,7 @@ func checkLimit(t *testing.T, name string, g api.Graph, want api.Errno) {
 			t.Errorf("P12.1: Count of the %s, %d: %d", name, n, e)
 		}
 	}
-	for _, n := range noNumbers() {
+	for _, n := range samples.NoNumbers() {
 		if number, e := subset.Count(g, n); e != api.ErrRange || number != (api.Int{}) {
 			t.Errorf("P12.1: Count of the %s, %d: %d", name, n, e)
 		}

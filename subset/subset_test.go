@@ -7,6 +7,7 @@ import (
 
 	"groove/api"
 	"groove/graph"
+	"groove/samples"
 	"groove/subset"
 )
 
@@ -18,10 +19,10 @@ func checkSets(t *testing.T, g, h api.Graph, first []int, sets [][]int) {
 	}
 	numbers := map[string]int{}
 	for i, set := range sets {
-		if _, is := numbers[key(set)]; is || len(set) == 0 || !slices.IsSorted(set) {
+		if _, is := numbers[samples.Key(set)]; is || len(set) == 0 || !slices.IsSorted(set) {
 			t.Fatalf("P12.2: the sets of %v from %v on: %v", g, first, sets)
 		}
-		numbers[key(set)] = i
+		numbers[samples.Key(set)] = i
 	}
 	var want []api.Edge
 	found := 1
@@ -34,7 +35,7 @@ func checkSets(t *testing.T, g, h api.Graph, first []int, sets [][]int) {
 			if len(to) == 0 {
 				continue
 			}
-			n, is := numbers[key(to)]
+			n, is := numbers[samples.Key(to)]
 			if !is || n > found {
 				t.Fatalf("P12.2: the set %v of %v from %v on is found as number %d: %v", to, g, first, found, sets)
 			}
@@ -53,7 +54,7 @@ func checkSets(t *testing.T, g, h api.Graph, first []int, sets [][]int) {
 // stepOf returns what Step returns; for the larger graphs, where Step takes long, by its definition.
 func stepOf(t *testing.T, g api.Graph, set []int, label int) []int {
 	t.Helper()
-	to := step(g, set, label)
+	to := samples.Step(g, set, label)
 	if len(g.Edges) > 100 && label != 0 {
 		return to
 	}
@@ -65,17 +66,17 @@ func stepOf(t *testing.T, g api.Graph, set []int, label int) []int {
 
 // sizes returns how many sets are reached from a set on, and how many edges lead on from them; it stops above the limits.
 func sizes(g api.Graph, first []int) (int, int) {
-	found, edges := map[string]bool{key(first): true}, 0
+	found, edges := map[string]bool{samples.Key(first): true}, 0
 	queue := [][]int{first}
 	for len(queue) > 0 && len(found) <= api.MaxState && edges <= api.MaxEdge {
 		for label := range g.Labels {
-			to := step(g, queue[0], label)
+			to := samples.Step(g, queue[0], label)
 			if len(to) == 0 {
 				continue
 			}
 			edges++
-			if !found[key(to)] {
-				found[key(to)] = true
+			if !found[samples.Key(to)] {
+				found[samples.Key(to)] = true
 				queue = append(queue, to)
 			}
 		}
@@ -107,13 +108,13 @@ func checkBuild(t *testing.T, g api.Graph) {
 	t.Helper()
 	h, sets, e := subset.Build(g)
 	if g.States == 0 {
-		if e != api.OK || !isGraph(h, g) || len(sets) > 0 {
+		if e != api.OK || !graph.Same(h, g) || len(sets) > 0 {
 			t.Fatalf("P12.1: Build %v: %v, %v, %d", g, h, sets, e)
 		}
 		return
 	}
-	k, want, f := subset.From(g, all(g))
-	if e != f || !isGraph(h, k) || !isSame(sets, want) {
+	k, want, f := subset.From(g, samples.All(g))
+	if e != f || !graph.Same(h, k) || !isSame(sets, want) {
 		t.Fatalf("P12.2: Build %v: %v, %v, %d, not %v, %v, %d", g, h, sets, e, k, want, f)
 	}
 }
@@ -126,29 +127,29 @@ func TestKnown(t *testing.T) {
 		h     api.Graph
 		sets  [][]int
 	}{
-		{even(), []int{0, 1}, of(2, 3, 0, 0, 0, 0, 1, 1, 1, 0, 2, 1, 1, 1, 2, 0, 1), [][]int{{0, 1}, {0}, {1}}},
-		{even(), []int{1}, of(2, 2, 0, 0, 1, 1, 0, 0, 1, 1, 1), [][]int{{1}, {0}}},
-		{golden(), []int{0, 1}, of(2, 3, 0, 0, 1, 0, 1, 2, 1, 0, 1, 1, 1, 2, 2, 0, 1), [][]int{{0, 1}, {0}, {1}}},
-		{of(3, 1), []int{0}, of(3, 1), [][]int{{0}}},
-		{of(3, 4), []int{1, 3}, of(3, 1), [][]int{{1, 3}}},
-		{whole(2), []int{0}, whole(2), [][]int{{0}}},
+		{samples.Even(), []int{0, 1}, samples.Of(2, 3, 0, 0, 0, 0, 1, 1, 1, 0, 2, 1, 1, 1, 2, 0, 1), [][]int{{0, 1}, {0}, {1}}},
+		{samples.Even(), []int{1}, samples.Of(2, 2, 0, 0, 1, 1, 0, 0, 1, 1, 1), [][]int{{1}, {0}}},
+		{samples.Golden(), []int{0, 1}, samples.Of(2, 3, 0, 0, 1, 0, 1, 2, 1, 0, 1, 1, 1, 2, 2, 0, 1), [][]int{{0, 1}, {0}, {1}}},
+		{samples.Of(3, 1), []int{0}, samples.Of(3, 1), [][]int{{0}}},
+		{samples.Of(3, 4), []int{1, 3}, samples.Of(3, 1), [][]int{{1, 3}}},
+		{samples.Whole(2), []int{0}, samples.Whole(2), [][]int{{0}}},
 		// Several edges with one label from a state; the greater label finds its set later.
-		{of(2, 3, 0, 0, 1, 0, 0, 2, 0, 1, 2), []int{0}, of(2, 3, 0, 0, 1, 0, 1, 2), [][]int{{0}, {1, 2}, {2}}},
+		{samples.Of(2, 3, 0, 0, 1, 0, 0, 2, 0, 1, 2), []int{0}, samples.Of(2, 3, 0, 0, 1, 0, 1, 2), [][]int{{0}, {1, 2}, {2}}},
 		// The sets of the first set come before those of the second one, whatever the labels; the first set is found again.
-		{of(3, 5, 0, 1, 1, 0, 2, 2, 1, 2, 3, 2, 0, 4, 3, 0, 0, 4, 1, 0, 4, 0, 4), []int{0}, of(3, 5, 0, 1, 1, 0, 2, 2, 1, 2, 3, 2, 0, 4, 3, 0, 0, 4, 0, 4, 4, 1, 0), [][]int{{0}, {1}, {2}, {3}, {4}}},
-		{of(256, 64, 63, 255, 0, 63, 255, 63, 0, 0, 5), []int{7, 63}, of(256, 3, 0, 255, 1, 1, 0, 2, 1, 255, 1), [][]int{{7, 63}, {0, 63}, {5}}},
-		{line(1, 3), []int{0, 1, 2}, of(1, 3, 0, 0, 1, 1, 0, 2), [][]int{{0, 1, 2}, {1, 2}, {2}}},
+		{samples.Of(3, 5, 0, 1, 1, 0, 2, 2, 1, 2, 3, 2, 0, 4, 3, 0, 0, 4, 1, 0, 4, 0, 4), []int{0}, samples.Of(3, 5, 0, 1, 1, 0, 2, 2, 1, 2, 3, 2, 0, 4, 3, 0, 0, 4, 0, 4, 4, 1, 0), [][]int{{0}, {1}, {2}, {3}, {4}}},
+		{samples.Of(256, 64, 63, 255, 0, 63, 255, 63, 0, 0, 5), []int{7, 63}, samples.Of(256, 3, 0, 255, 1, 1, 0, 2, 1, 255, 1), [][]int{{7, 63}, {0, 63}, {5}}},
+		{samples.Line(1, 3), []int{0, 1, 2}, samples.Of(1, 3, 0, 0, 1, 1, 0, 2), [][]int{{0, 1, 2}, {1, 2}, {2}}},
 	}
 	for _, c := range list {
-		if h, sets := fromOf(t, c.g, c.first); !isGraph(h, c.h) || !isSame(sets, c.sets) {
+		if h, sets := fromOf(t, c.g, c.first); !graph.Same(h, c.h) || !isSame(sets, c.sets) {
 			t.Errorf("P12.1: From %v, %v: %v, %v, not %v, %v", c.g, c.first, h, sets, c.h, c.sets)
 		}
-		if h, sets := buildOf(t, c.g); len(c.first) == c.g.States && (!isGraph(h, c.h) || !isSame(sets, c.sets)) {
+		if h, sets := buildOf(t, c.g); len(c.first) == c.g.States && (!graph.Same(h, c.h) || !isSame(sets, c.sets)) {
 			t.Errorf("P12.1: Build %v: %v, %v, not %v, %v", c.g, h, sets, c.h, c.sets)
 		}
 	}
 	for _, labels := range []int{1, 2, 17, 256} {
-		checkBuild(t, of(labels, 0))
+		checkBuild(t, samples.Of(labels, 0))
 	}
 }
 
@@ -167,7 +168,7 @@ func TestSets(t *testing.T) {
 		if g.States == 0 {
 			continue
 		}
-		there[checkFrom(t, g, all(g))]++
+		there[checkFrom(t, g, samples.All(g))]++
 		for range 5 {
 			there[checkFrom(t, g, randomSet(r, g))]++
 			there[checkFrom(t, g, []int{r.Intn(g.States)})]++
@@ -186,8 +187,8 @@ func TestOrder(t *testing.T) {
 		}
 		var met [][]int
 		for n := range 1 << g.States {
-			for _, labels := range lists(g, n) {
-				set := ends(g, all(g), labels)
+			for _, labels := range samples.Lists(g.Labels, n) {
+				set := samples.Ends(g, samples.All(g), labels)
 				if len(set) > 0 && !slices.ContainsFunc(met, func(other []int) bool { return slices.Equal(set, other) }) {
 					met = append(met, set)
 				}
@@ -207,7 +208,7 @@ func TestWords(t *testing.T) {
 			if r.Intn(5) == 0 {
 				h, sets := fromOf(t, g, first)
 				for n := range 5 {
-					for _, labels := range lists(g, n) {
+					for _, labels := range samples.Lists(g.Labels, n) {
 						checkWord(t, g, h, sets, labels)
 					}
 				}
@@ -246,7 +247,7 @@ func walk(r *rand.Rand, g api.Graph, set []int, n int) []int {
 // checkWord checks where a list of labels leads to in a graph of sets.
 func checkWord(t *testing.T, g, h api.Graph, sets [][]int, labels []int) {
 	t.Helper()
-	want, to := ends(g, sets[0], labels), ends(h, []int{0}, labels)
+	want, to := samples.Ends(g, sets[0], labels), samples.Ends(h, []int{0}, labels)
 	if len(want) == 0 && len(to) == 0 {
 		return
 	}
