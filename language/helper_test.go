@@ -81,30 +81,6 @@ func depth(g api.Graph) int {
 	return []int{0, 6, 5, 4, 3, 2}[min(g.Labels, 5)]
 }
 
-// all returns all words of n letters over q letters.
-func all(q, n int) []string {
-	list := []string{""}
-	for range n {
-		var longer []string
-		for _, w := range list {
-			for label := range q {
-				longer = append(longer, w+letters[label:label+1])
-			}
-		}
-		list = longer
-	}
-	return list
-}
-
-// upTo returns all words of at most n letters over q letters, in their order.
-func upTo(q, n int) []string {
-	var list []string
-	for length := range n + 1 {
-		list = append(list, all(q, length)...)
-	}
-	return list
-}
-
 // table tells which states a word leads to: the bit t of the number at s is 1 if one of the paths that are labelled with it leads from s to t.
 type table []uint64
 

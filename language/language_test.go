@@ -29,7 +29,7 @@ func TestExamples(t *testing.T) {
 func TestDefinitions(t *testing.T) {
 	r := rand.New(rand.NewSource(31))
 	for _, g := range graphs(32) {
-		words := upTo(g.Labels, depth(g))
+		words := samples.StringsUpTo(letters[:g.Labels], depth(g))
 		tables := tablesOf(g, words)
 		for _, w := range words {
 			if is := accepts(t, g, w); is != tables[w].isWord() {

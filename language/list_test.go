@@ -16,7 +16,7 @@ func TestListsByDefinition(t *testing.T) {
 	r := rand.New(rand.NewSource(41))
 	for _, g := range graphs(42) {
 		for n := range depth(g) + 1 {
-			words := all(g.Labels, n)
+			words := samples.Strings(letters[:g.Labels], n)
 			tables := tablesOf(g, words)
 			if list := wordsOf(t, g, n); !slices.Equal(list, chosen(tables, words, table.isWord)) {
 				t.Fatalf("P11.3: Words %v, %d: %v", g, n, list)
@@ -150,7 +150,7 @@ func TestLimit(t *testing.T) {
 		n    int
 		want []string
 	}{
-		{full(2), 12, all(2, 12)}, {full(4), 6, all(4, 6)}, {full(8), 4, all(8, 4)}, {full(16), 3, all(16, 3)}, {full(3), 7, all(3, 7)}, {full(1), api.MaxPower, all(1, api.MaxPower)}, {chain(2, 13, false), 12, all(2, 12)}, {samples.Stairs(), api.MaxList - 1, steps(api.MaxList - 1)},
+		{full(2), 12, samples.Strings(letters[:2], 12)}, {full(4), 6, samples.Strings(letters[:4], 6)}, {full(8), 4, samples.Strings(letters[:8], 4)}, {full(16), 3, samples.Strings(letters[:16], 3)}, {full(3), 7, samples.Strings(letters[:3], 7)}, {full(1), api.MaxPower, samples.Strings(letters[:1], api.MaxPower)}, {chain(2, 13, false), 12, samples.Strings(letters[:2], 12)}, {samples.Stairs(), api.MaxList - 1, steps(api.MaxList - 1)},
 	} {
 		if list := wordsOf(t, c.g, c.n); !slices.Equal(list, c.want) {
 			t.Errorf("P11.3: Words %v, %d: %d words", c.g, c.n, len(list))
@@ -179,7 +179,7 @@ func TestLimit(t *testing.T) {
 	if list := wordsOf(t, more, 11); len(list) != 1<<11+1 {
 		t.Errorf("P11.3: Words of 11 letters: %d words", len(list))
 	}
-	if list := fromOf(t, more, 0, 12); !slices.Equal(list, all(2, 12)) {
+	if list := fromOf(t, more, 0, 12); !slices.Equal(list, samples.Strings(letters[:2], 12)) {
 		t.Errorf("P11.3: From 0, 12: %d words", len(list))
 	}
 }

@@ -16,7 +16,7 @@ func TestMissing(t *testing.T) {
 	for _, g := range graphs(61) {
 		want, found := "", false
 		for n := range depth(g) + 1 {
-			for _, w := range all(g.Labels, n) {
+			for _, w := range samples.Strings(letters[:g.Labels], n) {
 				if !found && !tableOf(g, w).isWord() {
 					want, found = w, true
 				}

@@ -66,7 +66,7 @@ func TestPaths(t *testing.T) {
 	r := rand.New(rand.NewSource(51))
 	long := 0
 	for _, g := range graphs(52) {
-		for _, w := range upTo(g.Labels, depth(g)) {
+		for _, w := range samples.StringsUpTo(letters[:g.Labels], depth(g)) {
 			checkPath(t, g, w)
 		}
 		for range 5 {

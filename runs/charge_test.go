@@ -8,6 +8,7 @@ import (
 
 	"groove/api"
 	"groove/runs"
+	"groove/samples"
 	"groove/word"
 )
 
@@ -75,7 +76,7 @@ func checkTogether(t *testing.T, v, w string) {
 
 // P8.4: words that are put together of all short ones, and of longer ones.
 func TestTogether(t *testing.T) {
-	list := upTo("01", 5)
+	list := samples.StringsUpTo("01", 5)
 	for _, v := range list {
 		for _, w := range list {
 			checkTogether(t, v, w)
@@ -83,7 +84,7 @@ func TestTogether(t *testing.T) {
 	}
 	r := rand.New(rand.NewSource(43))
 	for range 300 {
-		checkTogether(t, random(r, "01", r.Intn(200)), random(r, "0111"[r.Intn(3):], r.Intn(200)))
+		checkTogether(t, samples.String(r, "01", r.Intn(200)), samples.String(r, "0111"[r.Intn(3):], r.Intn(200)))
 	}
 	for _, w := range []string{full("0"), full("1"), full("0011101")} {
 		for _, n := range []int{0, 1, 1000, 32768, api.MaxWord - 1, api.MaxWord} {

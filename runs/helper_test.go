@@ -8,6 +8,7 @@ import (
 
 	"groove/api"
 	"groove/runs"
+	"groove/samples"
 )
 
 // letters are the letters by the document, in their order.
@@ -20,30 +21,6 @@ func of(numbers ...int) []api.Run {
 		list = append(list, api.Run{Letter: numbers[i], Length: numbers[i+1]})
 	}
 	return list
-}
-
-// upTo returns the words of up to n letters, each of them one of these bytes.
-func upTo(bytes string, n int) []string {
-	list := []string{""}
-	for first := 0; n > 0; n-- {
-		end := len(list)
-		for _, w := range list[first:end] {
-			for i := range len(bytes) {
-				list = append(list, w+bytes[i:i+1])
-			}
-		}
-		first = end
-	}
-	return list
-}
-
-// random returns a word of n letters, each of them one of these bytes.
-func random(r *rand.Rand, bytes string, n int) string {
-	list := make([]byte, n)
-	for i := range list {
-		list[i] = bytes[r.Intn(len(bytes))]
-	}
-	return string(list)
 }
 
 // randomRuns returns a word of n runs of up to most letters, each of them one of these bytes, of which there are at least two.
@@ -65,28 +42,28 @@ func full(u string) string {
 // binaries returns binary words of all kinds: all short ones, those of one run, those without equal neighbours, and words of MaxWord letters.
 func binaries(seed int64) []string {
 	r := rand.New(rand.NewSource(seed))
-	list := upTo("01", 11)
+	list := samples.StringsUpTo("01", 11)
 	for n := range 40 {
 		list = append(list, strings.Repeat("0", n), strings.Repeat("1", n), strings.Repeat("01", n), strings.Repeat("10", n)+"1", strings.Repeat("1", n)+strings.Repeat("0", n))
 	}
 	for range 300 {
-		list = append(list, random(r, "01", r.Intn(200)), randomRuns(r, "01", 1+r.Intn(20), 1+r.Intn(9)))
+		list = append(list, samples.String(r, "01", r.Intn(200)), randomRuns(r, "01", 1+r.Intn(20), 1+r.Intn(9)))
 	}
-	return append(list, full("0"), full("1"), full("01"), full("0011101"), random(r, "01", api.MaxWord), random(r, "01", api.MaxWord-1))
+	return append(list, full("0"), full("1"), full("01"), full("0011101"), samples.String(r, "01", api.MaxWord), samples.String(r, "01", api.MaxWord-1))
 }
 
-// samples returns words over 16 letters of all kinds, the binary ones among them.
-func samples(seed int64) []string {
+// mixed returns words over 16 letters of all kinds, the binary ones among them.
+func mixed(seed int64) []string {
 	r := rand.New(rand.NewSource(seed))
-	list := append(binaries(seed), upTo("05f", 6)...)
+	list := append(binaries(seed), samples.StringsUpTo("05f", 6)...)
 	for i := range letters {
 		letter := letters[i : i+1]
 		list = append(list, letter, letter+letter, letter+letters, letters+letter, strings.Repeat(letter, 100), full(letter))
 	}
 	for range 300 {
-		list = append(list, random(r, letters, r.Intn(100)), randomRuns(r, letters, 1+r.Intn(30), 1+r.Intn(9)), randomRuns(r, "09f", 1+r.Intn(30), 3))
+		list = append(list, samples.String(r, letters, r.Intn(100)), randomRuns(r, letters, 1+r.Intn(30), 1+r.Intn(9)), randomRuns(r, "09f", 1+r.Intn(30), 3))
 	}
-	return append(list, full(letters), full("ffa0"), random(r, letters, api.MaxWord))
+	return append(list, full(letters), full("ffa0"), samples.String(r, letters, api.MaxWord))
 }
 
 // others are strings with other bytes than letters: capitals, spaces, signs, runes of more bytes, and bytes that are no runes.

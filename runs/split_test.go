@@ -43,7 +43,7 @@ func longest(w string, letter byte) int {
 
 // P8.2: the runs of all kinds of words, against the definition; joining them leads back.
 func TestSplit(t *testing.T) {
-	for _, w := range samples(21) {
+	for _, w := range mixed(21) {
 		l := splitOf(t, w)
 		if !isSplit(l, w) {
 			t.Fatalf("P8.2: Split %q: %d runs", short(w), len(l))
@@ -105,7 +105,7 @@ func TestJoin(t *testing.T) {
 
 // P8.2: the longest run of each letter is one of the runs, and none is longer; letters that do not occur have none.
 func TestLongest(t *testing.T) {
-	for _, w := range samples(23) {
+	for _, w := range mixed(23) {
 		greatest := [16]int{}
 		for _, run := range splitOf(t, w) {
 			greatest[run.Letter] = max(greatest[run.Letter], run.Length)

@@ -1,4 +1,4 @@
-// Package samples is no layer, and no layer uses it: it makes graphs for the tests of several layers.
+// Package samples is no layer, and no layer uses it: it makes graphs and strings for the tests of several layers.
 package samples
 
 import (

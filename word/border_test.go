@@ -5,6 +5,7 @@ import (
 	"strings"
 	"testing"
 
+	"groove/samples"
 	"groove/word"
 )
 
@@ -40,7 +41,7 @@ func root(w string) (string, int) {
 
 // P7.6: borders and periods against the definitions.
 func TestBorders(t *testing.T) {
-	for _, w := range append(samples(61), upTo("01", 12)...) {
+	for _, w := range append(mixed(61), samples.StringsUpTo("01", 12)...) {
 		n, period := word.Border(w), word.Period(w)
 		if n != border(w) || period != len(w)-n {
 			t.Fatalf("P7.6: %q: the border %d, the period %d", w, n, period)
@@ -89,7 +90,7 @@ func TestLongBorders(t *testing.T) {
 
 // P7.7: roots against the definition; each is its own root.
 func TestRoots(t *testing.T) {
-	for _, w := range append(samples(71), upTo("01", 12)...) {
+	for _, w := range append(mixed(71), samples.StringsUpTo("01", 12)...) {
 		u, k := word.Root(w)
 		shortest, copies := root(w)
 		if u != shortest || k != copies || strings.Repeat(u, k) != w {
@@ -123,7 +124,7 @@ func TestKnownRoots(t *testing.T) {
 func TestPowers(t *testing.T) {
 	r := rand.New(rand.NewSource(72))
 	for range 2000 {
-		w := random(r, "01x"[:1+r.Intn(3)], 1+r.Intn(20))
+		w := samples.String(r, "01x"[:1+r.Intn(3)], 1+r.Intn(20))
 		u, k := word.Root(w)
 		n := 1 + r.Intn(9)
 		if v, copies := word.Root(strings.Repeat(w, n)); v != u || copies != k*n {
@@ -134,7 +135,7 @@ func TestPowers(t *testing.T) {
 
 // P7.7: strings that are not empty commute exactly if their roots are equal.
 func TestCommuting(t *testing.T) {
-	list := append(upTo("01", 6)[1:], "é", "éé", "\xff", "\xff\xff", "0a0a", "0a0a0a", strings.Repeat("011", 4), strings.Repeat("011", 5), fibonacci(7), fibonacci(8))
+	list := append(samples.StringsUpTo("01", 6)[1:], "é", "éé", "\xff", "\xff\xff", "0a0a", "0a0a0a", strings.Repeat("011", 4), strings.Repeat("011", 5), fibonacci(7), fibonacci(8))
 	for _, v := range list {
 		for _, w := range list {
 			a, _ := word.Root(v)
@@ -157,7 +158,7 @@ func backward(w string) string {
 
 // P7.8: reversing, twice, and what it keeps.
 func TestReverse(t *testing.T) {
-	for _, w := range append(samples(81), upTo("01", 11)...) {
+	for _, w := range append(mixed(81), samples.StringsUpTo("01", 11)...) {
 		back := word.Reverse(w)
 		if back != backward(w) || word.Reverse(back) != w {
 			t.Fatalf("P7.8: %q reversed: %q", w, back)

@@ -6,6 +6,7 @@ import (
 	"strings"
 	"testing"
 
+	"groove/samples"
 	"groove/word"
 )
 
@@ -30,16 +31,16 @@ func checkFind(t *testing.T, w, u string) {
 
 // P7.5: all short strings in all short strings, the empty one among them.
 func TestFindShort(t *testing.T) {
-	list := upTo("01", 4)
-	for _, w := range upTo("01", 9) {
+	list := samples.StringsUpTo("01", 4)
+	for _, w := range samples.StringsUpTo("01", 9) {
 		for _, u := range list {
 			checkFind(t, w, u)
 		}
 		checkFind(t, w, w)
 		checkFind(t, w, w+"0")
 	}
-	list = upTo("a\xff ", 3)
-	for _, w := range upTo("a\xff ", 5) {
+	list = samples.StringsUpTo("a\xff ", 3)
+	for _, w := range samples.StringsUpTo("a\xff ", 5) {
 		for _, u := range list {
 			checkFind(t, w, u)
 		}
@@ -66,7 +67,7 @@ func TestKnownOffsets(t *testing.T) {
 // P7.5: parts of longer strings, with letters changed.
 func TestFindParts(t *testing.T) {
 	r := rand.New(rand.NewSource(51))
-	for _, w := range samples(52) {
+	for _, w := range mixed(52) {
 		for range 6 {
 			i := r.Intn(len(w) + 1)
 			u := w[i : i+r.Intn(len(w)-i+1)]
@@ -77,7 +78,7 @@ func TestFindParts(t *testing.T) {
 	}
 	for i := range 4000 {
 		bytes := []string{"01", "011", "012"}[i%3]
-		checkFind(t, random(r, bytes, 60), random(r, bytes, 1+r.Intn(7)))
+		checkFind(t, samples.String(r, bytes, 60), samples.String(r, bytes, 1+r.Intn(7)))
 	}
 }
 

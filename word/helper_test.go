@@ -8,6 +8,7 @@ import (
 	"testing"
 
 	"groove/api"
+	"groove/samples"
 	"groove/word"
 )
 
@@ -39,38 +40,6 @@ func noAlphabets() []int {
 	return []int{0, -1, -2, -16, api.MaxLetter + 1, api.MaxLetter + 2, 64, 256, math.MaxInt32 + 1, math.MaxInt, math.MinInt, math.MinInt + 1}
 }
 
-// lists returns the strings of n letters, each of them one of these bytes, in the order of the bytes.
-func lists(bytes string, n int) []string {
-	if n == 0 {
-		return []string{""}
-	}
-	var list []string
-	for i := range len(bytes) {
-		for _, w := range lists(bytes, n-1) {
-			list = append(list, bytes[i:i+1]+w)
-		}
-	}
-	return list
-}
-
-// upTo returns the strings of up to n letters, each of them one of these bytes.
-func upTo(bytes string, n int) []string {
-	var list []string
-	for size := range n + 1 {
-		list = append(list, lists(bytes, size)...)
-	}
-	return list
-}
-
-// random returns a string of n letters, each of them one of these bytes.
-func random(r *rand.Rand, bytes string, n int) string {
-	list := make([]byte, n)
-	for i := range list {
-		list[i] = bytes[r.Intn(len(bytes))]
-	}
-	return string(list)
-}
-
 // fibonacci returns the word of Fibonacci with the number n, which has many borders and a great root.
 func fibonacci(n int) string {
 	a, b := "0", "01"
@@ -80,17 +49,17 @@ func fibonacci(n int) string {
 	return a
 }
 
-// samples returns strings of all kinds: all short ones over two letters, strings of other bytes, repeated ones and nearly repeated ones.
-func samples(seed int64) []string {
+// mixed returns strings of all kinds: all short ones over two letters, strings of other bytes, repeated ones and nearly repeated ones.
+func mixed(seed int64) []string {
 	r := rand.New(rand.NewSource(seed))
-	list := append(upTo("01", 9), upTo("\x00\xff\xc3", 4)...)
+	list := append(samples.StringsUpTo("01", 9), samples.StringsUpTo("\x00\xff\xc3", 4)...)
 	for n := range 12 {
 		list = append(list, fibonacci(n), fibonacci(n)+"0", strings.Repeat("é", n), strings.Repeat("01", n)+"1")
 	}
 	for i := range 300 {
-		u := random(r, []string{"01", "012", letters, "\x80\xff", " x\x00é"}[i%5], 1+i%17)
+		u := samples.String(r, []string{"01", "012", letters, "\x80\xff", " x\x00é"}[i%5], 1+i%17)
 		w := strings.Repeat(u, 1+r.Intn(6))
-		list = append(list, w, w+u[:r.Intn(len(u))], random(r, u, 40))
+		list = append(list, w, w+u[:r.Intn(len(u))], samples.String(r, u, 40))
 	}
 	return list
 }

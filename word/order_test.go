@@ -8,6 +8,7 @@ import (
 
 	"groove/api"
 	"groove/integer"
+	"groove/samples"
 	"groove/word"
 )
 
@@ -35,7 +36,7 @@ func TestAll(t *testing.T) {
 	for q := 2; q <= api.MaxLetter; q++ {
 		for n := range longest(q) + 1 {
 			list := all(t, q, n)
-			if !slices.Equal(list, lists(letters[:q], n)) || !slices.IsSorted(list) {
+			if !slices.Equal(list, samples.Strings(letters[:q], n)) || !slices.IsSorted(list) {
 				t.Errorf("P7.2: All %d, %d: %d words", q, n, len(list))
 			}
 		}
@@ -87,7 +88,7 @@ func TestIndices(t *testing.T) {
 func TestNext(t *testing.T) {
 	for q := 1; q <= api.MaxLetter; q++ {
 		w := ""
-		for _, want := range upTo(letters[:q], min(longest(q), 40))[1:] {
+		for _, want := range samples.StringsUpTo(letters[:q], min(longest(q), 40))[1:] {
 			next, e := word.Next(q, w)
 			if e != api.OK || next != want {
 				t.Fatalf("P7.4: behind %q over %d letters: %q, %d", w, q, next, e)
@@ -102,7 +103,7 @@ func TestNextRanks(t *testing.T) {
 	r := rand.New(rand.NewSource(71))
 	for i := range 3000 {
 		q := 1 + r.Intn(api.MaxLetter)
-		w := random(r, letters[:q], r.Intn(40)) + strings.Repeat(letters[q-1:q], r.Intn(4)*(i%5))
+		w := samples.String(r, letters[:q], r.Intn(40)) + strings.Repeat(letters[q-1:q], r.Intn(4)*(i%5))
 		next, e := word.Next(q, w)
 		if e != api.OK || word.Check(q, next) != api.OK {
 			t.Fatalf("P7.4: behind %q over %d letters: %q, %d", w, q, next, e)

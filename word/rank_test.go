@@ -7,6 +7,7 @@ import (
 	"testing"
 
 	"groove/api"
+	"groove/samples"
 	"groove/word"
 )
 
@@ -38,7 +39,7 @@ func checkRanks(t *testing.T, q int, w string) {
 // P7.3: the rank is the number of lesser words of the same length.
 func TestCounted(t *testing.T) {
 	for _, c := range [][2]int{{1, 5}, {2, 6}, {3, 4}, {5, 2}, {16, 2}} {
-		list := lists(letters[:c[0]], c[1])
+		list := samples.Strings(letters[:c[0]], c[1])
 		for _, w := range list {
 			number := 0
 			for _, u := range list {
@@ -58,7 +59,7 @@ func TestRanks(t *testing.T) {
 	r := rand.New(rand.NewSource(31))
 	for q := 1; q <= api.MaxLetter; q++ {
 		for n := range 80 {
-			w := random(r, letters[:q], n)
+			w := samples.String(r, letters[:q], n)
 			zeros, last := strings.Repeat("0", n), strings.Repeat(letters[q-1:q], n)
 			for _, u := range []string{w, zeros, last, zeros + w, w + zeros, w + last, last + w, zeros + last, last + zeros} {
 				checkRanks(t, q, u)
@@ -67,7 +68,7 @@ func TestRanks(t *testing.T) {
 	}
 	for i := range 500 {
 		q := 1 + i%api.MaxLetter
-		checkRanks(t, q, random(r, letters[:q], r.Intn(2000)))
+		checkRanks(t, q, samples.String(r, letters[:q], r.Intn(2000)))
 	}
 }
 
@@ -75,10 +76,10 @@ func TestRanks(t *testing.T) {
 func TestLongRanks(t *testing.T) {
 	r := rand.New(rand.NewSource(32))
 	for q := 1; q <= api.MaxLetter; q++ {
-		checkRanks(t, q, random(r, letters[:q], api.MaxWord))
+		checkRanks(t, q, samples.String(r, letters[:q], api.MaxWord))
 		checkRanks(t, q, strings.Repeat("0", api.MaxWord))
 		checkRanks(t, q, strings.Repeat(letters[q-1:q], api.MaxWord))
-		checkRanks(t, q, random(r, letters[:q], api.MaxWord-1))
+		checkRanks(t, q, samples.String(r, letters[:q], api.MaxWord-1))
 	}
 }
 
@@ -120,7 +121,7 @@ func TestLooseRanks(t *testing.T) {
 // P7.3: all ranks of a length lead to different words, in their order.
 func TestUnrankAll(t *testing.T) {
 	for _, c := range [][2]int{{1, 9}, {2, 10}, {3, 6}, {7, 3}, {10, 3}, {16, 2}} {
-		for i, w := range lists(letters[:c[0]], c[1]) {
+		for i, w := range samples.Strings(letters[:c[0]], c[1]) {
 			if u, e := word.Unrank(c[0], c[1], of(i)); e != api.OK || u != w {
 				t.Fatalf("P7.3: Unrank %v, %d: %q, %d", c, i, u, e)
 			}

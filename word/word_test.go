@@ -8,6 +8,7 @@ import (
 
 	"groove/api"
 	"groove/integer"
+	"groove/samples"
 	"groove/word"
 )
 
@@ -148,7 +149,7 @@ func checkLength(t *testing.T, q, n int, want api.Errno) {
 func TestRepeated(t *testing.T) {
 	first := all(t, 2, 3)
 	first[0], first[7] = "x", "y"
-	if again := all(t, 2, 3); !slices.Equal(again, lists("01", 3)) {
+	if again := all(t, 2, 3); !slices.Equal(again, samples.Strings("01", 3)) {
 		t.Errorf("P7.1: All again: %v", again)
 	}
 	found := word.Find("0000", "0")
